@@ -205,6 +205,20 @@ func TestSameSeesEachBit(t *testing.T) {
 	}
 }
 
+func TestSameSeesBytesThatDifferAlike(t *testing.T) {
+	for i := range 9 {
+		for j := range i {
+			for _, x := range []byte{1, 0x55, 0x80, 0xff} {
+				a, b := []byte("abcdefghi"), []byte("abcdefghi")
+				b[i], b[j] = b[i]^x, b[j]^x
+				if octet.Same(a, b) || octet.Same(b, a) {
+					t.Errorf("Same does not see that %d and %d differ by %x", i, j, x)
+				}
+			}
+		}
+	}
+}
+
 func TestNought(t *testing.T) {
 	for _, n := range []int{0, 1, 8, 9, 256} {
 		if !octet.Nought(make([]byte, n)) {
