@@ -9,22 +9,13 @@ import (
 	"donjon/api"
 	"donjon/galois"
 	"donjon/octet"
+	"donjon/sample"
 )
-
-// raw is the bytes that the digits tell.
-func raw(t *testing.T, digits string) []byte {
-	t.Helper()
-	b, e, at := octet.Unhex(digits)
-	if e != api.OK {
-		t.Fatalf("%q is not digits at %d", digits, at)
-	}
-	return b
-}
 
 // block is the sixteen bytes that the digits tell.
 func block(t *testing.T, digits string) [16]byte {
 	t.Helper()
-	return [16]byte(raw(t, digits))
+	return [16]byte(sample.Raw(t, digits))
 }
 
 // rising is n bytes, each one more than the one ahead of it.
@@ -181,7 +172,7 @@ func TestWordsExamples(t *testing.T) {
 			0: "603deb10", 7: "0914dff4", 8: "9ba35411", 9: "8e6925af", 11: "2067fcde", 12: "a8b09c1a", 16: "d59aecb8", 56: "fe4890d1", 59: "706c631e",
 		}},
 	} {
-		words, e := aes.Words(raw(t, c.key))
+		words, e := aes.Words(sample.Raw(t, c.key))
 		if e != api.OK || len(words) != c.many {
 			t.Fatalf("Words(%s): %d, %v; want %d", c.key, len(words), e, c.many)
 		}
@@ -250,7 +241,7 @@ func TestCipherExamples(t *testing.T) {
 		{"00000000000000000000000000000000", "00000000000000000000000000000000", "66e94bd4ef8a2c3b884cfa59ca342b2e"},
 		{"0000000000000000000000000000000000000000000000000000000000000000", "00000000000000000000000000000000", "dc95c078a2408989ad48a21492842087"},
 	} {
-		made := cipher(t, raw(t, c.key))
+		made := cipher(t, sample.Raw(t, c.key))
 		if x := encrypted(t, made, block(t, c.clear)); x != block(t, c.enciphered) {
 			t.Errorf("Encrypt(%s) under %s = %x; want %s", c.clear, c.key, x, c.enciphered)
 		}

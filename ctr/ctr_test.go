@@ -10,27 +10,8 @@ import (
 	"donjon/api"
 	"donjon/ctr"
 	"donjon/octet"
+	"donjon/sample"
 )
-
-// raw is the bytes that the digits tell.
-func raw(t *testing.T, digits string) []byte {
-	t.Helper()
-	b, e, at := octet.Unhex(digits)
-	if e != api.OK {
-		t.Fatalf("%q is not digits at %d", digits, at)
-	}
-	return b
-}
-
-// mingled is n bytes of no order, other ones for each start.
-func mingled(start uint32, n int) []byte {
-	b := make([]byte, n)
-	for i := range b {
-		start = start*1664525 + 1013904223
-		b[i] = byte(start >> 24)
-	}
-	return b
-}
 
 // lengths is the lengths about the ends of blocks.
 var lengths = []int{0, 1, 2, 15, 16, 17, 31, 32, 33, 47, 48, 49}
@@ -39,14 +20,14 @@ var lengths = []int{0, 1, 2, 15, 16, 17, 31, 32, 33, 47, 48, 49}
 func keys() [][]byte {
 	var list [][]byte
 	for _, size := range []int{16, 32} {
-		list = append(list, make([]byte, size), bytes.Repeat([]byte{0xff}, size), mingled(1, size), mingled(2, size))
+		list = append(list, make([]byte, size), bytes.Repeat([]byte{0xff}, size), sample.Mingled(1, size), sample.Mingled(2, size))
 	}
 	return list
 }
 
 // nonces is nonces: of noughts, of ff alone, one that differs from the first in its last bit, and others.
 func nonces() [][]byte {
-	return [][]byte{make([]byte, 12), bytes.Repeat([]byte{0xff}, 12), append(make([]byte, 11), 1), mingled(3, 12), mingled(4, 12)}
+	return [][]byte{make([]byte, 12), bytes.Repeat([]byte{0xff}, 12), append(make([]byte, 11), 1), sample.Mingled(3, 12), sample.Mingled(4, 12)}
 }
 
 // counter is the counter block that begins with ahead and ends with the number n.
@@ -108,7 +89,7 @@ func TestFirstExamples(t *testing.T) {
 		{"cafebabefacedbaddecaf888", "cafebabefacedbaddecaf88800000001"},
 		{"0102030405060708090a0b0c", "0102030405060708090a0b0c00000001"},
 	} {
-		if c, e := ctr.First(raw(t, x.nonce)); c != [16]byte(raw(t, x.want)) || e != api.OK {
+		if c, e := ctr.First(sample.Raw(t, x.nonce)); c != [16]byte(sample.Raw(t, x.want)) || e != api.OK {
 			t.Errorf("First(%s) = %x, %v; want %s", x.nonce, c, e, x.want)
 		}
 	}
@@ -132,11 +113,11 @@ func TestFirstIsTheNonceAndOne(t *testing.T) {
 }
 
 func TestFirstRefusesOtherLengths(t *testing.T) {
-	room := mingled(5, 64)
+	room := sample.Mingled(5, 64)
 	list := [][]byte{nil, {}, make([]byte, 11), make([]byte, 13), make([]byte, api.MaxText+12)}
 	for n := range 64 {
 		if n != 12 {
-			list = append(list, room[:n], mingled(6, n))
+			list = append(list, room[:n], sample.Mingled(6, n))
 		}
 	}
 	for _, nonce := range list {
@@ -163,7 +144,7 @@ func TestNextExamples(t *testing.T) {
 		{"0102030405060708090a0b0c00ffffff", "0102030405060708090a0b0c01000000"},
 		{"ffffffffffffffffffffffffffffffff", "ffffffffffffffffffffffff00000000"},
 	} {
-		if c := ctr.Next([16]byte(raw(t, x.c))); c != [16]byte(raw(t, x.want)) {
+		if c := ctr.Next([16]byte(sample.Raw(t, x.c))); c != [16]byte(sample.Raw(t, x.want)) {
 			t.Errorf("Next(%s) = %x; want %s", x.c, c, x.want)
 		}
 	}
@@ -189,7 +170,7 @@ func TestNextAtTheEdges(t *testing.T) {
 }
 
 func TestNextCountsOn(t *testing.T) {
-	ahead := mingled(7, 12)
+	ahead := sample.Mingled(7, 12)
 	for _, from := range []uint32{0, math.MaxUint32 - 70000} {
 		c := counter(ahead, from)
 		for i := range uint32(140000) {
@@ -219,11 +200,11 @@ func TestCryptExamples(t *testing.T) {
 		{half + half, nonce, clear, "522dc1f099567d07f47f37a32a84427d643a8cdcbfe5c0c97598a2bd2555d1aa8cb08e48590dbb3da7b08b1056828838c5f61e6393ba7a0abcc9f662898015ad"},
 		{half, nonce, "", ""},
 	} {
-		key, nonce := raw(t, x.key), raw(t, x.nonce)
-		if b := octet.Hex(crypted(t, key, nonce, raw(t, x.text))); b != x.want {
+		key, nonce := sample.Raw(t, x.key), sample.Raw(t, x.nonce)
+		if b := octet.Hex(crypted(t, key, nonce, sample.Raw(t, x.text))); b != x.want {
 			t.Errorf("Crypt(%s, %x, %s) = %s; want %s", x.key, nonce, x.text, b, x.want)
 		}
-		if b := octet.Hex(crypted(t, key, nonce, raw(t, x.want))); b != x.text {
+		if b := octet.Hex(crypted(t, key, nonce, sample.Raw(t, x.want))); b != x.text {
 			t.Errorf("Crypt(%s, %x, %s) = %s; want %s", x.key, nonce, x.want, b, x.text)
 		}
 	}
@@ -234,7 +215,7 @@ func TestCryptAddsTheStream(t *testing.T) {
 		for _, nonce := range nonces() {
 			all := counted(t, key, nonce, 50)
 			for n := range 50 {
-				for _, text := range [][]byte{make([]byte, n), bytes.Repeat([]byte{0xff}, n), mingled(8, n)} {
+				for _, text := range [][]byte{make([]byte, n), bytes.Repeat([]byte{0xff}, n), sample.Mingled(8, n)} {
 					if b := crypted(t, key, nonce, text); !bytes.Equal(b, added(text, all)) {
 						t.Fatalf("Crypt(%x, %x, %x) = %x; want the sum with %x", key, nonce, text, b, all[:n])
 					}
@@ -245,10 +226,10 @@ func TestCryptAddsTheStream(t *testing.T) {
 }
 
 func TestCryptOfEachLengthThatIsTaken(t *testing.T) {
-	nonce := mingled(9, 12)
-	text := mingled(10, api.MaxText)
+	nonce := sample.Mingled(9, 12)
+	text := sample.Mingled(10, api.MaxText)
 	for _, size := range []int{16, 32} {
-		key := mingled(11, size)
+		key := sample.Mingled(11, size)
 		all := counted(t, key, nonce, api.MaxText)
 		// The last byte of a counter block turns over behind 254 blocks of the stream.
 		for _, n := range []int{0, 1, 15, 16, 17, 32, 33, 254*16 - 1, 254 * 16, 254*16 + 1, 255 * 16, 256 * 16, 257 * 16, 4097, 65535, 65536} {
@@ -286,10 +267,10 @@ func TestTheStreamBeginsBehindTheFirstBlock(t *testing.T) {
 }
 
 func TestCryptOfNone(t *testing.T) {
-	room := mingled(12, 40)
+	room := sample.Mingled(12, 40)
 	for _, key := range keys() {
 		for _, none := range [][]byte{nil, {}, room[:0], room[40:]} {
-			if b := crypted(t, key, mingled(13, 12), none); len(b) != 0 {
+			if b := crypted(t, key, sample.Mingled(13, 12), none); len(b) != 0 {
 				t.Errorf("Crypt of none = %x", b)
 			}
 		}
@@ -300,7 +281,7 @@ func TestCryptTwiceChangesNothing(t *testing.T) {
 	for _, key := range keys() {
 		for _, nonce := range nonces() {
 			for _, n := range lengths {
-				text := mingled(14, n)
+				text := sample.Mingled(14, n)
 				once := crypted(t, key, nonce, text)
 				if twice := crypted(t, key, nonce, once); !bytes.Equal(twice, text) {
 					t.Errorf("%x became %x, then %x", text, once, twice)
@@ -308,15 +289,15 @@ func TestCryptTwiceChangesNothing(t *testing.T) {
 			}
 		}
 	}
-	text := mingled(15, api.MaxText)
-	key, nonce := mingled(16, 32), mingled(17, 12)
+	text := sample.Mingled(15, api.MaxText)
+	key, nonce := sample.Mingled(16, 32), sample.Mingled(17, 12)
 	if !bytes.Equal(crypted(t, key, nonce, crypted(t, key, nonce, text)), text) {
 		t.Error("the longest text is another one behind Crypt twice")
 	}
 }
 
 func TestTheBeginningIsEncipheredAsTheBeginning(t *testing.T) {
-	key, nonce, text := mingled(18, 16), mingled(19, 12), mingled(20, 300)
+	key, nonce, text := sample.Mingled(18, 16), sample.Mingled(19, 12), sample.Mingled(20, 300)
 	whole := crypted(t, key, nonce, text)
 	for n := range text {
 		if b := crypted(t, key, nonce, text[:n]); !bytes.Equal(b, whole[:n]) {
@@ -327,7 +308,7 @@ func TestTheBeginningIsEncipheredAsTheBeginning(t *testing.T) {
 
 func TestCryptSeesEachBit(t *testing.T) {
 	for _, size := range []int{16, 32} {
-		key, nonce, text := mingled(21, size), mingled(22, 12), mingled(23, 33)
+		key, nonce, text := sample.Mingled(21, size), sample.Mingled(22, 12), sample.Mingled(23, 33)
 		was := crypted(t, key, nonce, text)
 		for _, b := range [][]byte{key, nonce} {
 			for bit := range 8 * len(b) {
@@ -351,11 +332,11 @@ func TestCryptSeesEachBit(t *testing.T) {
 }
 
 func TestCryptRefusesKeysOfOtherLengths(t *testing.T) {
-	room, nonce := mingled(24, 80), mingled(25, 12)
+	room, nonce := sample.Mingled(24, 80), sample.Mingled(25, 12)
 	list := [][]byte{nil, {}, make([]byte, api.MaxText), room}
 	for n := range 65 {
 		if n != 16 && n != 32 {
-			list = append(list, room[:n], mingled(26, n))
+			list = append(list, room[:n], sample.Mingled(26, n))
 		}
 	}
 	for _, key := range list {
@@ -369,14 +350,14 @@ func TestCryptRefusesKeysOfOtherLengths(t *testing.T) {
 }
 
 func TestCryptRefusesNoncesOfOtherLengths(t *testing.T) {
-	room := mingled(27, 64)
+	room := sample.Mingled(27, 64)
 	list := [][]byte{nil, {}, make([]byte, 11), make([]byte, 13), room}
 	for n := range 33 {
 		if n != 12 {
 			list = append(list, room[:n])
 		}
 	}
-	for _, key := range [][]byte{mingled(28, 16), mingled(29, 32)} {
+	for _, key := range [][]byte{sample.Mingled(28, 16), sample.Mingled(29, 32)} {
 		for _, nonce := range list {
 			for _, n := range []int{0, 1, 16, api.MaxText} {
 				refused(t, key, nonce, make([]byte, n), api.ErrArg)
@@ -388,7 +369,7 @@ func TestCryptRefusesNoncesOfOtherLengths(t *testing.T) {
 
 func TestCryptRefusesLongTexts(t *testing.T) {
 	for _, key := range keys() {
-		nonce := mingled(30, 12)
+		nonce := sample.Mingled(30, 12)
 		crypted(t, key, nonce, make([]byte, api.MaxText))
 		for _, n := range []int{api.MaxText + 1, api.MaxText + 16, 2 * api.MaxText, 1 << 24} {
 			refused(t, key, nonce, make([]byte, n), api.ErrLong)
@@ -416,7 +397,7 @@ func TestErrArgComesAheadOfErrLong(t *testing.T) {
 func TestWhatIsHandedInStays(t *testing.T) {
 	for _, size := range []int{16, 32} {
 		for _, n := range lengths {
-			room := mingled(31, 200)
+			room := sample.Mingled(31, 200)
 			was := bytes.Clone(room)
 			// The spare room of the nonce has the key in it, that of the key the text.
 			nonce, key, text := room[8:20], room[24:24+size], room[64:64+n]
@@ -434,7 +415,7 @@ func TestWhatIsHandedInStays(t *testing.T) {
 			}
 		}
 	}
-	long := mingled(32, api.MaxText+1)
+	long := sample.Mingled(32, api.MaxText+1)
 	was := bytes.Clone(long)
 	refused(t, long[:16], long[:12], long, api.ErrLong)
 	crypted(t, long[:16], long[:12], long[:api.MaxText])
@@ -444,7 +425,7 @@ func TestWhatIsHandedInStays(t *testing.T) {
 }
 
 func TestOneTextAsAll(t *testing.T) {
-	b := mingled(33, 32)
+	b := sample.Mingled(33, 32)
 	want := added(b, counted(t, bytes.Clone(b), bytes.Clone(b[:12]), 32))
 	if got := crypted(t, b, b[:12], b); !bytes.Equal(got, want) {
 		t.Errorf("Crypt of a text under itself = %x; want %x", got, want)
@@ -453,7 +434,7 @@ func TestOneTextAsAll(t *testing.T) {
 
 func TestAnswersAreNewMemory(t *testing.T) {
 	for _, n := range lengths {
-		key, nonce, text := mingled(34, 32), mingled(35, 12), mingled(36, n)
+		key, nonce, text := sample.Mingled(34, 32), sample.Mingled(35, 12), sample.Mingled(36, n)
 		wasKey, wasNonce, wasText := bytes.Clone(key), bytes.Clone(nonce), bytes.Clone(text)
 		first, second := crypted(t, key, nonce, text), crypted(t, key, nonce, text)
 		want := bytes.Clone(second)
@@ -474,9 +455,9 @@ func TestAnswersAreNewMemory(t *testing.T) {
 }
 
 func TestWhatLiesBesideCountsNothing(t *testing.T) {
-	roomy := func(b []byte) []byte { return append(bytes.Clone(b), mingled(38, 64)...)[:len(b)] }
+	roomy := func(b []byte) []byte { return append(bytes.Clone(b), sample.Mingled(38, 64)...)[:len(b)] }
 	for _, n := range lengths {
-		key, nonce, text := mingled(39, 16), mingled(40, 12), mingled(41, n)
+		key, nonce, text := sample.Mingled(39, 16), sample.Mingled(40, 12), sample.Mingled(41, n)
 		want := crypted(t, slices.Clip(key), slices.Clip(nonce), slices.Clip(text))
 		if b := crypted(t, roomy(key), roomy(nonce), roomy(text)); !bytes.Equal(b, want) {
 			t.Errorf("with room behind them Crypt of %d bytes = %x; want %x", n, b, want)
@@ -485,12 +466,12 @@ func TestWhatLiesBesideCountsNothing(t *testing.T) {
 }
 
 func TestAnswersHangOnNothingThatWasAsked(t *testing.T) {
-	key, nonce, text := mingled(42, 16), mingled(43, 12), mingled(44, 49)
+	key, nonce, text := sample.Mingled(42, 16), sample.Mingled(43, 12), sample.Mingled(44, 49)
 	was := crypted(t, key, nonce, text)
 	c := ctr.Next(counter(nonce, 5))
 	for _, other := range keys() {
 		for _, n := range lengths {
-			crypted(t, other, mingled(uint32(n), 12), mingled(45, n))
+			crypted(t, other, sample.Mingled(uint32(n), 12), sample.Mingled(45, n))
 			refused(t, key, nonce[:n%12], text, api.ErrArg)
 			ctr.Next(counter(nonce, uint32(n)))
 		}

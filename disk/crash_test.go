@@ -7,6 +7,7 @@ import (
 
 	"donjon/api"
 	"donjon/disk"
+	"donjon/sample"
 )
 
 // mixed is the block old with those sectors of a fresh one of the byte x that mask tells.
@@ -24,8 +25,8 @@ func mixed(old []byte, x byte, mask uint8) []byte {
 
 func TestTheSecondSectorAlone(t *testing.T) {
 	d := fresh(t, 8)
-	is(t, "Write", d.Write(5, full('n')), api.OK)
-	is(t, "Crash", d.Crash([]uint8{2}), api.OK)
+	sample.Is(t, "Write", d.Write(5, full('n')), api.OK)
+	sample.Is(t, "Crash", d.Crash([]uint8{2}), api.OK)
 	tells(t, d, 5, sectors("\x00n\x00\x00"))
 	firms(t, d, 5, sectors("\x00n\x00\x00"))
 }
@@ -34,15 +35,15 @@ func TestCrashOfEachMask(t *testing.T) {
 	for mask := range 256 {
 		for _, cut := range []bool{false, true} {
 			d := fresh(t, 8)
-			is(t, "Write", d.Write(4, full('o')), api.OK)
-			is(t, "Sync", d.Sync(), api.OK)
-			is(t, "Write", d.Write(4, full('n')), api.OK)
+			sample.Is(t, "Write", d.Write(4, full('o')), api.OK)
+			sample.Is(t, "Sync", d.Sync(), api.OK)
+			sample.Is(t, "Write", d.Write(4, full('n')), api.OK)
 			if cut {
 				d.Cut(0)
-				is(t, "Sync", d.Sync(), api.ErrDown)
+				sample.Is(t, "Sync", d.Sync(), api.ErrDown)
 			}
 			what := fmt.Sprintf("Crash(%d), the power off: %v", mask, cut)
-			is(t, what, d.Crash([]uint8{uint8(mask)}), api.OK)
+			sample.Is(t, what, d.Crash([]uint8{uint8(mask)}), api.OK)
 			power(t, what, d, false)
 			counts(t, what, d, 0, 3)
 			tells(t, d, 4, mixed(full('o'), 'n', uint8(mask)))
@@ -50,8 +51,8 @@ func TestCrashOfEachMask(t *testing.T) {
 		}
 	}
 	d := fresh(t, 8)
-	is(t, "Write", d.Write(0, sectors("abcd")), api.OK)
-	is(t, "Crash(6)", d.Crash([]uint8{6}), api.OK)
+	sample.Is(t, "Write", d.Write(0, sectors("abcd")), api.OK)
+	sample.Is(t, "Crash(6)", d.Crash([]uint8{6}), api.OK)
 	tells(t, d, 0, sectors("\x00bc\x00"))
 }
 
@@ -60,10 +61,10 @@ func TestCrashOfCounts(t *testing.T) {
 		for masks := range 9 {
 			d := fresh(t, 8)
 			for k := range waiting {
-				is(t, "Write", d.Write(k, full(byte('a'+k))), api.OK)
+				sample.Is(t, "Write", d.Write(k, full(byte('a'+k))), api.OK)
 			}
 			list := bytes.Repeat([]byte{5}, masks)
-			is(t, "Crash", d.Crash(list), api.OK)
+			sample.Is(t, "Crash", d.Crash(list), api.OK)
 			for i := range 8 {
 				want := full(0)
 				if i < waiting && i < masks {
@@ -80,9 +81,9 @@ func TestCrashOfCounts(t *testing.T) {
 func TestMasksGoByTheOrderOfWrites(t *testing.T) {
 	d := fresh(t, 8)
 	for _, i := range []int{5, 2, 7, 0} {
-		is(t, "Write", d.Write(i, full(byte('0'+i))), api.OK)
+		sample.Is(t, "Write", d.Write(i, full(byte('0'+i))), api.OK)
 	}
-	is(t, "Crash", d.Crash([]uint8{1, 2, 4, 8}), api.OK)
+	sample.Is(t, "Crash", d.Crash([]uint8{1, 2, 4, 8}), api.OK)
 	tells(t, d, 5, sectors("5\x00\x00\x00"))
 	tells(t, d, 2, sectors("\x002\x00\x00"))
 	tells(t, d, 7, sectors("\x00\x007\x00"))
@@ -94,14 +95,14 @@ func TestCrashOfWritesOverOneAnother(t *testing.T) {
 		for b := range 16 {
 			for c := range 16 {
 				d := fresh(t, 8)
-				is(t, "Foreign", d.Foreign(6, 0, full('o')), api.OK)
+				sample.Is(t, "Foreign", d.Foreign(6, 0, full('o')), api.OK)
 				want := full('o')
 				masks := []uint8{uint8(a), uint8(b) | 0xf0, uint8(c) | 0x20}
 				for k, x := range []byte{'a', 'b', 'c'} {
-					is(t, "Write", d.Write(6, full(x)), api.OK)
+					sample.Is(t, "Write", d.Write(6, full(x)), api.OK)
 					want = mixed(want, x, masks[k])
 				}
-				is(t, "Crash", d.Crash(masks), api.OK)
+				sample.Is(t, "Crash", d.Crash(masks), api.OK)
 				if got, e := d.Read(6); !bytes.Equal(got, want) || e != api.OK {
 					t.Fatalf("Crash(%v) of three writes:%s, %v; want%s", masks, brief(got), e, brief(want))
 				}
@@ -113,23 +114,23 @@ func TestCrashOfWritesOverOneAnother(t *testing.T) {
 
 func TestCrashOfWritesWithOthersBetween(t *testing.T) {
 	d := fresh(t, 8)
-	is(t, "Write", d.Write(1, full('a')), api.OK)
-	is(t, "Write", d.Write(2, full('b')), api.OK)
-	is(t, "Write", d.Write(1, full('c')), api.OK)
-	is(t, "Write", d.Write(2, full('d')), api.OK)
-	is(t, "Crash", d.Crash([]uint8{15, 3, 4, 9}), api.OK)
+	sample.Is(t, "Write", d.Write(1, full('a')), api.OK)
+	sample.Is(t, "Write", d.Write(2, full('b')), api.OK)
+	sample.Is(t, "Write", d.Write(1, full('c')), api.OK)
+	sample.Is(t, "Write", d.Write(2, full('d')), api.OK)
+	sample.Is(t, "Crash", d.Crash([]uint8{15, 3, 4, 9}), api.OK)
 	tells(t, d, 1, sectors("aaca"))
 	tells(t, d, 2, sectors("db\x00d"))
 }
 
 func TestACrashInWhichAllComesThrough(t *testing.T) {
 	d := busy(t)
-	is(t, "Write", d.Write(1, mingled(1, 256)), api.OK)
+	sample.Is(t, "Write", d.Write(1, sample.Mingled(1, 256)), api.OK)
 	was := make([][]byte, 8)
 	for i := range was {
 		was[i], _ = d.Read(i)
 	}
-	is(t, "Crash", d.Crash([]uint8{15, 15, 15}), api.OK)
+	sample.Is(t, "Crash", d.Crash([]uint8{15, 15, 15}), api.OK)
 	for i := range was {
 		tells(t, d, i, was[i])
 		firms(t, d, i, was[i])
@@ -139,31 +140,31 @@ func TestACrashInWhichAllComesThrough(t *testing.T) {
 func TestWhatIsOverIsNotLookedAtAgain(t *testing.T) {
 	all := bytes.Repeat([]byte{15}, 9)
 	d := fresh(t, 8)
-	is(t, "Write", d.Write(0, full('a')), api.OK)
-	is(t, "Sync", d.Sync(), api.OK)
-	is(t, "Write", d.Write(1, full('b')), api.OK)
+	sample.Is(t, "Write", d.Write(0, full('a')), api.OK)
+	sample.Is(t, "Sync", d.Sync(), api.OK)
+	sample.Is(t, "Write", d.Write(1, full('b')), api.OK)
 	// The masks' first number is the one of the first write behind the Sync.
-	is(t, "Crash", d.Crash([]uint8{2, 8}), api.OK)
+	sample.Is(t, "Crash", d.Crash([]uint8{2, 8}), api.OK)
 	tells(t, d, 0, full('a'))
 	tells(t, d, 1, sectors("\x00b\x00\x00"))
-	is(t, "Crash", d.Crash(all), api.OK)
+	sample.Is(t, "Crash", d.Crash(all), api.OK)
 	tells(t, d, 0, full('a'))
 	tells(t, d, 1, sectors("\x00b\x00\x00"))
-	is(t, "Sync", d.Sync(), api.OK)
+	sample.Is(t, "Sync", d.Sync(), api.OK)
 	firms(t, d, 1, sectors("\x00b\x00\x00"))
 
-	is(t, "Write", d.Write(0, full('c')), api.OK)
-	is(t, "Crash", d.Crash(nil), api.OK)
-	is(t, "Write", d.Write(2, full('d')), api.OK)
+	sample.Is(t, "Write", d.Write(0, full('c')), api.OK)
+	sample.Is(t, "Crash", d.Crash(nil), api.OK)
+	sample.Is(t, "Write", d.Write(2, full('d')), api.OK)
 	counts(t, "behind a Crash", d, 1, 6)
-	is(t, "Crash", d.Crash([]uint8{4, 15}), api.OK)
+	sample.Is(t, "Crash", d.Crash([]uint8{4, 15}), api.OK)
 	tells(t, d, 0, full('a'))
 	tells(t, d, 2, sectors("\x00\x00d\x00"))
 
 	d.Fail(1)
-	is(t, "Write that fails", d.Write(3, full('e')), api.ErrIO)
-	is(t, "Write", d.Write(4, full('f')), api.OK)
-	is(t, "Crash", d.Crash([]uint8{1, 15}), api.OK)
+	sample.Is(t, "Write that fails", d.Write(3, full('e')), api.ErrIO)
+	sample.Is(t, "Write", d.Write(4, full('f')), api.OK)
+	sample.Is(t, "Crash", d.Crash([]uint8{1, 15}), api.OK)
 	tells(t, d, 3, full(0))
 	tells(t, d, 4, sectors("f\x00\x00\x00"))
 }
@@ -171,9 +172,9 @@ func TestWhatIsOverIsNotLookedAtAgain(t *testing.T) {
 func TestWhatWasSyncedStays(t *testing.T) {
 	for _, masks := range [][]uint8{nil, {0}, {15}, {0, 15}, bytes.Repeat([]byte{255}, 20)} {
 		d := busy(t)
-		is(t, "Sync", d.Sync(), api.OK)
-		is(t, "Write", d.Write(3, full('q')), api.OK)
-		is(t, "Crash", d.Crash(masks), api.OK)
+		sample.Is(t, "Sync", d.Sync(), api.OK)
+		sample.Is(t, "Write", d.Write(3, full('q')), api.OK)
+		sample.Is(t, "Crash", d.Crash(masks), api.OK)
 		for i, x := range []byte{'x', 'w', 0, 'q', 0, 0, 0, 'g'} {
 			if i != 3 {
 				tells(t, d, i, full(x))
@@ -189,7 +190,7 @@ func TestFailAndCutAreForgottenBehindACrash(t *testing.T) {
 			d := fresh(t, 8)
 			d.Fail(fail)
 			d.Cut(cut)
-			is(t, "Crash", d.Crash(nil), api.OK)
+			sample.Is(t, "Crash", d.Crash(nil), api.OK)
 			what := fmt.Sprintf("Fail(%d), Cut(%d), Crash", fail, cut)
 			power(t, what, d, false)
 			goes(t, what, d, run(9)...)
@@ -213,15 +214,15 @@ func TestFailAndCutAreForgottenBehindACrash(t *testing.T) {
 
 func TestCrashGoesBehindCrash(t *testing.T) {
 	d := off(t)
-	is(t, "Crash", d.Crash(nil), api.OK)
+	sample.Is(t, "Crash", d.Crash(nil), api.OK)
 	was := inside(d)
 	for range 3 {
-		is(t, "Crash", d.Crash([]uint8{15, 15, 15}), api.OK)
+		sample.Is(t, "Crash", d.Crash([]uint8{15, 15, 15}), api.OK)
 	}
 	if got := inside(d); got != was {
 		t.Errorf("a Crash behind a Crash has changed the device:\n%s\nwant\n%s", got, was)
 	}
-	is(t, "Write", d.Write(1, full('z')), api.OK)
+	sample.Is(t, "Write", d.Write(1, full('z')), api.OK)
 	tells(t, d, 1, full('z'))
 	firms(t, d, 1, full('f'))
 	counts(t, "behind a Write", d, 1, 6)
@@ -236,11 +237,11 @@ func TestForeignAtEdges(t *testing.T) {
 	} {
 		for _, i := range []int{0, 3, 7} {
 			d := fresh(t, 8)
-			was := mingled(1, 256)
-			is(t, "Write", d.Write(i, was), api.OK)
-			is(t, "Sync", d.Sync(), api.OK)
-			s := mingled(2, x.n)
-			is(t, fmt.Sprintf("Foreign(%d, %d, %d bytes)", i, x.at, x.n), d.Foreign(i, x.at, s), api.OK)
+			was := sample.Mingled(1, 256)
+			sample.Is(t, "Write", d.Write(i, was), api.OK)
+			sample.Is(t, "Sync", d.Sync(), api.OK)
+			s := sample.Mingled(2, x.n)
+			sample.Is(t, fmt.Sprintf("Foreign(%d, %d, %d bytes)", i, x.at, x.n), d.Foreign(i, x.at, s), api.OK)
 			want := laid(was, x.at, string(s))
 			tells(t, d, i, want)
 			firms(t, d, i, want)
@@ -251,7 +252,7 @@ func TestForeignAtEdges(t *testing.T) {
 					firms(t, d, j, full(0))
 				}
 			}
-			is(t, "Crash", d.Crash(nil), api.OK)
+			sample.Is(t, "Crash", d.Crash(nil), api.OK)
 			tells(t, d, i, want)
 		}
 	}
@@ -267,7 +268,7 @@ func TestForeignBeyondABlock(t *testing.T) {
 		{least, 0}, {least, 1}, {least, 256}, {least + 1, 1}, {least + 256, 0},
 	} {
 		for _, i := range []int{0, 1, 7} {
-			stays(t, fmt.Sprintf("Foreign(%d, %d, %d bytes)", i, x.at, x.n), d, api.ErrArg, func() api.Errno { return d.Foreign(i, x.at, mingled(1, x.n)) })
+			stays(t, fmt.Sprintf("Foreign(%d, %d, %d bytes)", i, x.at, x.n), d, api.ErrArg, func() api.Errno { return d.Foreign(i, x.at, sample.Mingled(1, x.n)) })
 		}
 	}
 	d = off(t)
@@ -277,8 +278,8 @@ func TestForeignBeyondABlock(t *testing.T) {
 
 func TestForeignWithThePowerOff(t *testing.T) {
 	d := off(t)
-	is(t, "Foreign", d.Foreign(7, 10, []byte("foreign")), api.OK)
-	is(t, "Foreign", d.Foreign(1, 60, []byte("FOREIGN")), api.OK)
+	sample.Is(t, "Foreign", d.Foreign(7, 10, []byte("foreign")), api.OK)
+	sample.Is(t, "Foreign", d.Foreign(1, 60, []byte("FOREIGN")), api.OK)
 	firms(t, d, 7, laid(full('g'), 10, "foreign"))
 	firms(t, d, 1, laid(full('f'), 60, "FOREIGN"))
 	power(t, "behind Foreign", d, true)
@@ -286,7 +287,7 @@ func TestForeignWithThePowerOff(t *testing.T) {
 	if b, e := d.Read(7); len(b) != 0 || e != api.ErrDown {
 		t.Errorf("Read(7) with the power off: %d bytes, %v", len(b), e)
 	}
-	is(t, "Crash", d.Crash([]uint8{1}), api.OK)
+	sample.Is(t, "Crash", d.Crash([]uint8{1}), api.OK)
 	tells(t, d, 7, laid(full('g'), 10, "foreign"))
 	// The first sector is the one that was written ahead of Foreign; the bytes behind it are Foreign's.
 	tells(t, d, 1, laid(sectors("wfff"), 64, "IGN"))
@@ -297,7 +298,7 @@ func TestForeignIsNoStep(t *testing.T) {
 	d.Fail(1)
 	d.Cut(1)
 	for range 5 {
-		is(t, "Foreign", d.Foreign(0, 0, full('a')), api.OK)
+		sample.Is(t, "Foreign", d.Foreign(0, 0, full('a')), api.OK)
 	}
 	counts(t, "behind Foreign", d, 0, 0)
 	goes(t, "behind Foreign", d, api.ErrIO, api.ErrDown)
@@ -306,29 +307,29 @@ func TestForeignIsNoStep(t *testing.T) {
 func TestWhatWaitsStaysAsItWasWritten(t *testing.T) {
 	for mask := range uint8(16) {
 		d := fresh(t, 8)
-		is(t, "Write", d.Write(2, full('w')), api.OK)
-		is(t, "Foreign", d.Foreign(2, 32, full('f')[:128]), api.OK)
+		sample.Is(t, "Write", d.Write(2, full('w')), api.OK)
+		sample.Is(t, "Foreign", d.Foreign(2, 32, full('f')[:128]), api.OK)
 		f := string(full('f')[:128])
 		tells(t, d, 2, laid(full('w'), 32, f))
 		firms(t, d, 2, laid(full(0), 32, f))
 		counts(t, "behind Foreign", d, 1, 1)
-		is(t, "Crash", d.Crash([]uint8{mask}), api.OK)
+		sample.Is(t, "Crash", d.Crash([]uint8{mask}), api.OK)
 		tells(t, d, 2, mixed(laid(full(0), 32, f), 'w', mask))
 	}
 }
 
 func TestSyncBehindForeign(t *testing.T) {
 	d := fresh(t, 8)
-	is(t, "Write", d.Write(2, full('w')), api.OK)
-	is(t, "Foreign", d.Foreign(2, 250, []byte("end")), api.OK)
-	is(t, "Foreign", d.Foreign(3, 0, []byte("start")), api.OK)
-	is(t, "Sync", d.Sync(), api.OK)
+	sample.Is(t, "Write", d.Write(2, full('w')), api.OK)
+	sample.Is(t, "Foreign", d.Foreign(2, 250, []byte("end")), api.OK)
+	sample.Is(t, "Foreign", d.Foreign(3, 0, []byte("start")), api.OK)
+	sample.Is(t, "Sync", d.Sync(), api.OK)
 	firms(t, d, 2, laid(full('w'), 250, "end"))
 	firms(t, d, 3, laid(full(0), 0, "start"))
-	is(t, "Write", d.Write(2, full('v')), api.OK)
+	sample.Is(t, "Write", d.Write(2, full('v')), api.OK)
 	tells(t, d, 2, full('v'))
 	firms(t, d, 2, laid(full('w'), 250, "end"))
-	is(t, "Crash", d.Crash([]uint8{0}), api.OK)
+	sample.Is(t, "Crash", d.Crash([]uint8{0}), api.OK)
 	tells(t, d, 2, laid(full('w'), 250, "end"))
 }
 
@@ -337,17 +338,17 @@ func TestSyncBehindForeign(t *testing.T) {
 func TestFirmAndWaitingGoOn(t *testing.T) {
 	d := fresh(t, 8)
 	for k := range 296 {
-		is(t, "Write", d.Write(k%8, full(byte(k))), api.OK)
+		sample.Is(t, "Write", d.Write(k%8, full(byte(k))), api.OK)
 		if d.Waiting() != k+1 {
 			t.Fatalf("behind %d writes %d wait", k+1, d.Waiting())
 		}
 		firms(t, d, k%8, full(0))
 	}
-	is(t, "Step", d.Step(), api.OK)
+	sample.Is(t, "Step", d.Step(), api.OK)
 	if d.Waiting() != 296 {
 		t.Errorf("behind a Step %d wait; want 296", d.Waiting())
 	}
-	is(t, "Sync", d.Sync(), api.OK)
+	sample.Is(t, "Sync", d.Sync(), api.OK)
 	counts(t, "behind a Sync", d, 0, 298)
 	for i := range 8 {
 		firms(t, d, i, full(byte(288+i)))
@@ -362,7 +363,7 @@ func ready(t *testing.T) *disk.Disk {
 	d := busy(t)
 	d.Fail(3)
 	d.Cut(5)
-	is(t, "Step", d.Step(), api.OK)
+	sample.Is(t, "Step", d.Step(), api.OK)
 	return d
 }
 
@@ -395,7 +396,7 @@ func TestForkKnowsWhatIsTold(t *testing.T) {
 	f = off(t).Fork()
 	power(t, "the Fork of one whose power is off", f, true)
 	firms(t, f, 1, full('f'))
-	is(t, "Crash", f.Crash([]uint8{3, 12}), api.OK)
+	sample.Is(t, "Crash", f.Crash([]uint8{3, 12}), api.OK)
 	tells(t, f, 1, sectors("wwff"))
 	tells(t, f, 0, sectors("\x00\x00xx"))
 	tells(t, f, 7, full('g'))
@@ -453,18 +454,18 @@ func TestForksWriteApart(t *testing.T) {
 	for waiting := range 20 {
 		d := fresh(t, 32)
 		for k := range waiting {
-			is(t, "Write", d.Write(k, full('o')), api.OK)
+			sample.Is(t, "Write", d.Write(k, full('o')), api.OK)
 		}
 		one, two := d.Fork(), d.Fork()
-		is(t, "Write", d.Write(20, full('d')), api.OK)
-		is(t, "Write", one.Write(21, full('1')), api.OK)
-		is(t, "Write", two.Write(22, full('2')), api.OK)
+		sample.Is(t, "Write", d.Write(20, full('d')), api.OK)
+		sample.Is(t, "Write", one.Write(21, full('1')), api.OK)
+		sample.Is(t, "Write", two.Write(22, full('2')), api.OK)
 		for _, x := range []struct {
 			d  *disk.Disk
 			at int
 			x  byte
 		}{{d, 20, 'd'}, {one, 21, '1'}, {two, 22, '2'}} {
-			is(t, "Crash", x.d.Crash(bytes.Repeat([]byte{15}, 20)), api.OK)
+			sample.Is(t, "Crash", x.d.Crash(bytes.Repeat([]byte{15}, 20)), api.OK)
 			for i := range 32 {
 				want := full(0)
 				if i < waiting {

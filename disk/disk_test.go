@@ -10,20 +10,11 @@ import (
 
 	"donjon/api"
 	"donjon/disk"
+	"donjon/sample"
 )
 
 // full is a block of the byte x alone.
 func full(x byte) []byte { return bytes.Repeat([]byte{x}, api.Block) }
-
-// mingled is n bytes of no order, other ones for each start.
-func mingled(start uint32, n int) []byte {
-	b := make([]byte, n)
-	for i := range b {
-		start = start*1664525 + 1013904223
-		b[i] = byte(start >> 24)
-	}
-	return b
-}
 
 // sectors is a block whose sectors are of these bytes alone.
 func sectors(s string) []byte {
@@ -63,14 +54,6 @@ func fresh(t *testing.T, blocks int) *disk.Disk {
 		t.Fatalf("New(%d): a device: %v, %v; want one, OK", blocks, d != nil, e)
 	}
 	return d
-}
-
-// is holds it that a call answers the error want.
-func is(t *testing.T, what string, e, want api.Errno) {
-	t.Helper()
-	if e != want {
-		t.Errorf("%s: %v; want %v", what, e, want)
-	}
 }
 
 // tells holds it that the block i tells want.
@@ -135,7 +118,7 @@ func inside(d *disk.Disk) string {
 func stays(t *testing.T, what string, d *disk.Disk, want api.Errno, call func() api.Errno) {
 	t.Helper()
 	was := inside(d)
-	is(t, what, call(), want)
+	sample.Is(t, what, call(), want)
 	if got := inside(d); got != was {
 		t.Errorf("%s: the device has changed:\n%s\nwant\n%s", what, got, was)
 	}
@@ -159,11 +142,11 @@ func steps() []step {
 func busy(t *testing.T) *disk.Disk {
 	t.Helper()
 	d := fresh(t, 8)
-	is(t, "Write", d.Write(1, full('f')), api.OK)
-	is(t, "Write", d.Write(7, full('g')), api.OK)
-	is(t, "Sync", d.Sync(), api.OK)
-	is(t, "Write", d.Write(1, full('w')), api.OK)
-	is(t, "Write", d.Write(0, full('x')), api.OK)
+	sample.Is(t, "Write", d.Write(1, full('f')), api.OK)
+	sample.Is(t, "Write", d.Write(7, full('g')), api.OK)
+	sample.Is(t, "Sync", d.Sync(), api.OK)
+	sample.Is(t, "Write", d.Write(1, full('w')), api.OK)
+	sample.Is(t, "Write", d.Write(0, full('x')), api.OK)
 	counts(t, "a busy device", d, 2, 5)
 	return d
 }
@@ -173,7 +156,7 @@ func off(t *testing.T) *disk.Disk {
 	t.Helper()
 	d := busy(t)
 	d.Cut(0)
-	is(t, "a Step at which the power goes", d.Step(), api.ErrDown)
+	sample.Is(t, "a Step at which the power goes", d.Step(), api.ErrDown)
 	power(t, "behind a Cut", d, true)
 	return d
 }
@@ -192,38 +175,38 @@ func TestExamples(t *testing.T) {
 	}
 	a, b := full('a'), full('b')
 	d := fresh(t, 8)
-	is(t, "Write(0, A)", d.Write(0, a), api.OK)
+	sample.Is(t, "Write(0, A)", d.Write(0, a), api.OK)
 	counts(t, "Write(0, A)", d, 1, 1)
 	firms(t, d, 0, make([]byte, 256))
-	is(t, "Write(0, B)", d.Write(0, b), api.OK)
-	is(t, "Crash(15 1)", d.Crash([]uint8{15, 1}), api.OK)
+	sample.Is(t, "Write(0, B)", d.Write(0, b), api.OK)
+	sample.Is(t, "Crash(15 1)", d.Crash([]uint8{15, 1}), api.OK)
 	tells(t, d, 0, sectors("baaa"))
 
 	d = fresh(t, 8)
-	is(t, "Write(1, A)", d.Write(1, a), api.OK)
-	is(t, "Sync", d.Sync(), api.OK)
-	is(t, "Write(1, B)", d.Write(1, b), api.OK)
-	is(t, "Crash(none)", d.Crash(nil), api.OK)
+	sample.Is(t, "Write(1, A)", d.Write(1, a), api.OK)
+	sample.Is(t, "Sync", d.Sync(), api.OK)
+	sample.Is(t, "Write(1, B)", d.Write(1, b), api.OK)
+	sample.Is(t, "Crash(none)", d.Crash(nil), api.OK)
 	tells(t, d, 1, a)
 
 	d = fresh(t, 8)
 	d.Fail(2)
-	is(t, "Write(0, A)", d.Write(0, a), api.OK)
-	is(t, "Sync", d.Sync(), api.ErrIO)
+	sample.Is(t, "Write(0, A)", d.Write(0, a), api.OK)
+	sample.Is(t, "Sync", d.Sync(), api.ErrIO)
 	counts(t, "Fail(2)", d, 1, 2)
 
 	d = fresh(t, 8)
 	d.Cut(1)
-	is(t, "Write(0, A)", d.Write(0, a), api.OK)
-	is(t, "Sync", d.Sync(), api.ErrDown)
+	sample.Is(t, "Write(0, A)", d.Write(0, a), api.OK)
+	sample.Is(t, "Sync", d.Sync(), api.ErrDown)
 	power(t, "Cut(1)", d, true)
 	if got, e := d.Read(0); len(got) != 0 || e != api.ErrDown {
 		t.Errorf("Read(0) with the power off:%s, %v", brief(got), e)
 	}
-	is(t, "Crash(15)", d.Crash([]uint8{15}), api.OK)
+	sample.Is(t, "Crash(15)", d.Crash([]uint8{15}), api.OK)
 	tells(t, d, 0, a)
 
-	is(t, "Foreign(0, 250, seven bytes)", d.Foreign(0, 250, a[:7]), api.ErrArg)
+	sample.Is(t, "Foreign(0, 250, seven bytes)", d.Foreign(0, 250, a[:7]), api.ErrArg)
 }
 
 // P8.1 (New, Blocks)
@@ -251,11 +234,11 @@ func TestNew(t *testing.T) {
 func TestNewDevicesAreApart(t *testing.T) {
 	one, two := fresh(t, 8), fresh(t, 8)
 	was := inside(two)
-	is(t, "Write", one.Write(0, full('a')), api.OK)
-	is(t, "Sync", one.Sync(), api.OK)
+	sample.Is(t, "Write", one.Write(0, full('a')), api.OK)
+	sample.Is(t, "Sync", one.Sync(), api.OK)
 	one.Fail(1)
 	one.Cut(1)
-	is(t, "Foreign", one.Foreign(1, 0, full('b')), api.OK)
+	sample.Is(t, "Foreign", one.Foreign(1, 0, full('b')), api.OK)
 	if inside(two) != was {
 		t.Error("a device knows what another one was told")
 	}
@@ -282,14 +265,14 @@ func TestReadTellsWhatWasWrittenLast(t *testing.T) {
 		want[i] = make([]byte, 256)
 	}
 	for k, i := range []int{0, 8, 3, 3, 0, 7, 8, 1} {
-		want[i] = mingled(uint32(k), 256)
-		is(t, "Write", d.Write(i, want[i]), api.OK)
+		want[i] = sample.Mingled(uint32(k), 256)
+		sample.Is(t, "Write", d.Write(i, want[i]), api.OK)
 		for j := range blocks {
 			tells(t, d, j, want[j])
 			firms(t, d, j, make([]byte, 256))
 		}
 	}
-	is(t, "Sync", d.Sync(), api.OK)
+	sample.Is(t, "Sync", d.Sync(), api.OK)
 	for j := range blocks {
 		tells(t, d, j, want[j])
 		firms(t, d, j, want[j])
@@ -299,13 +282,13 @@ func TestReadTellsWhatWasWrittenLast(t *testing.T) {
 func TestBlocksThatAreNot(t *testing.T) {
 	for _, n := range []int{8, 9, 4096} {
 		d := fresh(t, n)
-		is(t, "Write of the first one", d.Write(0, full('a')), api.OK)
-		is(t, "Write of the last one", d.Write(n-1, full('b')), api.OK)
-		is(t, "Sync", d.Sync(), api.OK)
+		sample.Is(t, "Write of the first one", d.Write(0, full('a')), api.OK)
+		sample.Is(t, "Write of the last one", d.Write(n-1, full('b')), api.OK)
+		sample.Is(t, "Sync", d.Sync(), api.OK)
 		tells(t, d, 0, full('a'))
 		tells(t, d, n-1, full('b'))
-		is(t, "Foreign of the first one", d.Foreign(0, 1, []byte("c")), api.OK)
-		is(t, "Foreign of the last one", d.Foreign(n-1, 2, []byte("d")), api.OK)
+		sample.Is(t, "Foreign of the first one", d.Foreign(0, 1, []byte("c")), api.OK)
+		sample.Is(t, "Foreign of the last one", d.Foreign(n-1, 2, []byte("d")), api.OK)
 		for range 2 {
 			tells(t, d, 0, laid(full('a'), 1, "c"))
 			firms(t, d, 0, laid(full('a'), 1, "c"))
@@ -329,9 +312,9 @@ func refusesBlock(t *testing.T, d *disk.Disk, i int) {
 		t.Errorf("Firm(%d) of %d blocks: %d bytes, %v; want ErrArg", i, d.Blocks(), len(b), e)
 	}
 	what := fmt.Sprintf("of the block %d of %d", i, d.Blocks())
-	is(t, "Write "+what, d.Write(i, full('z')), api.ErrArg)
-	is(t, "Foreign "+what, d.Foreign(i, 0, full('z')), api.ErrArg)
-	is(t, "Foreign of nothing "+what, d.Foreign(i, 0, nil), api.ErrArg)
+	sample.Is(t, "Write "+what, d.Write(i, full('z')), api.ErrArg)
+	sample.Is(t, "Foreign "+what, d.Foreign(i, 0, full('z')), api.ErrArg)
+	sample.Is(t, "Foreign of nothing "+what, d.Foreign(i, 0, nil), api.ErrArg)
 }
 
 func TestReadWithThePowerOff(t *testing.T) {
@@ -381,26 +364,26 @@ func TestWriteOfLengths(t *testing.T) {
 	d := busy(t)
 	for _, n := range lengths {
 		for _, i := range []int{0, 1, 7} {
-			stays(t, fmt.Sprintf("Write(%d, %d bytes)", i, n), d, api.ErrArg, func() api.Errno { return d.Write(i, mingled(1, n)) })
+			stays(t, fmt.Sprintf("Write(%d, %d bytes)", i, n), d, api.ErrArg, func() api.Errno { return d.Write(i, sample.Mingled(1, n)) })
 		}
 	}
 	stays(t, "Write(0, nil)", d, api.ErrArg, func() api.Errno { return d.Write(0, nil) })
-	room := mingled(2, 400)
+	room := sample.Mingled(2, 400)
 	stays(t, "Write of 255 bytes with room for more", d, api.ErrArg, func() api.Errno { return d.Write(0, room[:255]) })
-	is(t, "Write of 256 bytes with room for more", d.Write(0, room[7:263]), api.OK)
+	sample.Is(t, "Write of 256 bytes with room for more", d.Write(0, room[7:263]), api.OK)
 	tells(t, d, 0, room[7:263])
 	counts(t, "behind a Write", d, 3, 6)
 }
 
 func TestWriteWaits(t *testing.T) {
 	d := busy(t)
-	is(t, "Write", d.Write(3, full('n')), api.OK)
+	sample.Is(t, "Write", d.Write(3, full('n')), api.OK)
 	counts(t, "behind a Write", d, 3, 6)
 	tells(t, d, 3, full('n'))
 	firms(t, d, 3, full(0))
-	is(t, "Write of the same", d.Write(3, full('n')), api.OK)
+	sample.Is(t, "Write of the same", d.Write(3, full('n')), api.OK)
 	counts(t, "behind one of the same", d, 4, 7)
-	is(t, "Write of noughts", d.Write(3, full(0)), api.OK)
+	sample.Is(t, "Write of noughts", d.Write(3, full(0)), api.OK)
 	counts(t, "behind one of noughts", d, 5, 8)
 	tells(t, d, 0, full('x'))
 	tells(t, d, 1, full('w'))
@@ -410,14 +393,14 @@ func TestWriteWaits(t *testing.T) {
 
 func TestSyncMakesFirm(t *testing.T) {
 	d := busy(t)
-	is(t, "Write", d.Write(1, full('y')), api.OK)
-	is(t, "Sync", d.Sync(), api.OK)
+	sample.Is(t, "Write", d.Write(1, full('y')), api.OK)
+	sample.Is(t, "Sync", d.Sync(), api.OK)
 	counts(t, "behind a Sync", d, 0, 7)
 	for i, x := range []byte{'x', 'y', 0, 0, 0, 0, 0, 'g'} {
 		tells(t, d, i, full(x))
 		firms(t, d, i, full(x))
 	}
-	is(t, "Sync of nothing", d.Sync(), api.OK)
+	sample.Is(t, "Sync of nothing", d.Sync(), api.OK)
 	counts(t, "behind a Sync of nothing", d, 0, 8)
 	d.Crash([]uint8{15, 15, 15})
 	for i, x := range []byte{'x', 'y', 0, 0, 0, 0, 0, 'g'} {
@@ -428,7 +411,7 @@ func TestSyncMakesFirm(t *testing.T) {
 
 func TestStepDoesNothingButCount(t *testing.T) {
 	d := busy(t)
-	is(t, "Step", d.Step(), api.OK)
+	sample.Is(t, "Step", d.Step(), api.OK)
 	counts(t, "behind a Step", d, 2, 6)
 	for i, x := range []byte{'x', 'w', 0, 0, 0, 0, 0, 'g'} {
 		tells(t, d, i, full(x))
@@ -436,7 +419,7 @@ func TestStepDoesNothingButCount(t *testing.T) {
 	for i, x := range []byte{0, 'f', 0, 0, 0, 0, 0, 'g'} {
 		firms(t, d, i, full(x))
 	}
-	is(t, "Crash", d.Crash([]uint8{1, 2}), api.OK)
+	sample.Is(t, "Crash", d.Crash([]uint8{1, 2}), api.OK)
 	tells(t, d, 1, sectors("wfff"))
 	tells(t, d, 0, sectors("\x00x\x00\x00"))
 }
@@ -467,12 +450,12 @@ func TestPowerComesAheadOfFailures(t *testing.T) {
 		d := busy(t)
 		d.Fail(1)
 		d.Cut(0)
-		is(t, s.name+" that fails and at which the power goes", s.of(d), api.ErrDown)
+		sample.Is(t, s.name+" that fails and at which the power goes", s.of(d), api.ErrDown)
 		power(t, s.name, d, true)
 		counts(t, s.name, d, 2, 5)
-		is(t, s.name+" behind it", s.of(d), api.ErrDown)
+		sample.Is(t, s.name+" behind it", s.of(d), api.ErrDown)
 		d.Fail(1)
-		is(t, s.name+" with the power off, told to fail", s.of(d), api.ErrDown)
+		sample.Is(t, s.name+" with the power off, told to fail", s.of(d), api.ErrDown)
 		counts(t, s.name, d, 2, 5)
 	}
 }
@@ -483,11 +466,11 @@ func TestAStepThatFailsDoesNothing(t *testing.T) {
 	for _, s := range steps() {
 		d := busy(t)
 		d.Fail(1)
-		is(t, s.name+" that fails", s.of(d), api.ErrIO)
+		sample.Is(t, s.name+" that fails", s.of(d), api.ErrIO)
 		counts(t, s.name+" that fails", d, 2, 6)
 		power(t, s.name+" that fails", d, false)
 		like := busy(t)
-		is(t, "Step", like.Step(), api.OK)
+		sample.Is(t, "Step", like.Step(), api.OK)
 		if got, want := inside(d), inside(like); got != want {
 			t.Errorf("%s that failed has changed the device:\n%s\nwant\n%s", s.name, got, want)
 		}
@@ -498,7 +481,7 @@ func TestAStepAtWhichThePowerGoesDoesNothing(t *testing.T) {
 	for _, s := range steps() {
 		d := busy(t)
 		d.Cut(0)
-		is(t, s.name+" at which the power goes", s.of(d), api.ErrDown)
+		sample.Is(t, s.name+" at which the power goes", s.of(d), api.ErrDown)
 		power(t, s.name+" at which the power goes", d, true)
 		counts(t, s.name+" at which the power goes", d, 2, 5)
 		if got, want := inside(d), inside(off(t)); got != want {
@@ -510,12 +493,12 @@ func TestAStepAtWhichThePowerGoesDoesNothing(t *testing.T) {
 
 func TestWhatAFailedStepLeavesWaiting(t *testing.T) {
 	d := fresh(t, 8)
-	is(t, "Write", d.Write(2, full('a')), api.OK)
+	sample.Is(t, "Write", d.Write(2, full('a')), api.OK)
 	d.Fail(1)
-	is(t, "Write that fails", d.Write(2, full('b')), api.ErrIO)
-	is(t, "Write", d.Write(3, full('c')), api.OK)
+	sample.Is(t, "Write that fails", d.Write(2, full('b')), api.ErrIO)
+	sample.Is(t, "Write", d.Write(3, full('c')), api.OK)
 	d.Fail(1)
-	is(t, "Sync that fails", d.Sync(), api.ErrIO)
+	sample.Is(t, "Sync that fails", d.Sync(), api.ErrIO)
 	counts(t, "behind both", d, 2, 4)
 	tells(t, d, 2, full('a'))
 	tells(t, d, 3, full('c'))
@@ -534,7 +517,7 @@ func goes(t *testing.T, what string, d *disk.Disk, want ...api.Errno) {
 	count, down := d.Steps(), d.Down()
 	for k, e := range want {
 		s := steps()[k%3]
-		is(t, fmt.Sprintf("%s: the step %d, %s", what, k+1, s.name), s.of(d), e)
+		sample.Is(t, fmt.Sprintf("%s: the step %d, %s", what, k+1, s.name), s.of(d), e)
 		if e == api.ErrDown {
 			down = true
 		} else {
@@ -684,7 +667,7 @@ func TestStepsOfEachKindCount(t *testing.T) {
 		d := fresh(t, 8)
 		for k := range 10 {
 			counts(t, s.name, d, d.Waiting(), uint64(k))
-			is(t, s.name, s.of(d), api.OK)
+			sample.Is(t, s.name, s.of(d), api.OK)
 		}
 		for n := 1; n < 4; n++ {
 			d := fresh(t, 8)
@@ -694,7 +677,7 @@ func TestStepsOfEachKindCount(t *testing.T) {
 				if k == n {
 					want = api.ErrIO
 				}
-				is(t, fmt.Sprintf("%s %d behind Fail(%d)", s.name, k, n), s.of(d), want)
+				sample.Is(t, fmt.Sprintf("%s %d behind Fail(%d)", s.name, k, n), s.of(d), want)
 				counts(t, s.name, d, d.Waiting(), uint64(k))
 			}
 			d = fresh(t, 8)
@@ -704,7 +687,7 @@ func TestStepsOfEachKindCount(t *testing.T) {
 				if k > n {
 					want = api.ErrDown
 				}
-				is(t, fmt.Sprintf("%s %d behind Cut(%d)", s.name, k, n), s.of(d), want)
+				sample.Is(t, fmt.Sprintf("%s %d behind Cut(%d)", s.name, k, n), s.of(d), want)
 				counts(t, s.name, d, d.Waiting(), uint64(min(k, n)))
 			}
 		}

@@ -8,6 +8,7 @@ import (
 
 	"donjon/api"
 	"donjon/disk"
+	"donjon/sample"
 )
 
 // A device that is not there
@@ -22,17 +23,17 @@ func TestADeviceThatIsNotThere(t *testing.T) {
 			t.Errorf("Firm(%d) of none: %d bytes, %v", i, len(b), e)
 		}
 		for _, b := range [][]byte{nil, {1}, full(1), make([]byte, 257)} {
-			is(t, "Write of none", d.Write(i, b), api.ErrNil)
-			is(t, "Foreign of none", d.Foreign(i, 0, b), api.ErrNil)
-			is(t, "Foreign of none", d.Foreign(i, i, b), api.ErrNil)
+			sample.Is(t, "Write of none", d.Write(i, b), api.ErrNil)
+			sample.Is(t, "Foreign of none", d.Foreign(i, 0, b), api.ErrNil)
+			sample.Is(t, "Foreign of none", d.Foreign(i, i, b), api.ErrNil)
 		}
 		d.Fail(i)
 		d.Cut(i)
 	}
-	is(t, "Sync of none", d.Sync(), api.ErrNil)
-	is(t, "Step of none", d.Step(), api.ErrNil)
-	is(t, "Crash of none", d.Crash(nil), api.ErrNil)
-	is(t, "Crash of none", d.Crash([]uint8{15}), api.ErrNil)
+	sample.Is(t, "Sync of none", d.Sync(), api.ErrNil)
+	sample.Is(t, "Step of none", d.Step(), api.ErrNil)
+	sample.Is(t, "Crash of none", d.Crash(nil), api.ErrNil)
+	sample.Is(t, "Crash of none", d.Crash([]uint8{15}), api.ErrNil)
 	if d.Blocks() != 0 || d.Steps() != 0 || d.Waiting() != 0 || d.Down() {
 		t.Errorf("none has %d blocks, %d steps, %d writes that wait, the power off: %v", d.Blocks(), d.Steps(), d.Waiting(), d.Down())
 	}
@@ -44,53 +45,45 @@ func TestADeviceThatIsNotThere(t *testing.T) {
 // R3, R4 (memory, lists)
 
 func TestWhatIsHandedInStays(t *testing.T) {
-	room := mingled(1, 400)
+	room := sample.Mingled(1, 400)
 	was := bytes.Clone(room)
 	d := fresh(t, 8)
-	is(t, "Write", d.Write(0, room[9:265]), api.OK)
-	is(t, "Write of too few", d.Write(0, room[9:260]), api.ErrArg)
-	is(t, "Foreign", d.Foreign(0, 3, room[20:40]), api.OK)
-	is(t, "Foreign of none", d.Foreign(0, 3, room[20:20]), api.OK)
-	is(t, "Foreign of too many", d.Foreign(0, 3, room), api.ErrArg)
-	is(t, "Crash", d.Crash(room[5:6]), api.OK)
-	is(t, "Write", d.Write(0, room[9:265]), api.OK)
-	is(t, "Crash", d.Crash(room), api.OK)
+	sample.Is(t, "Write", d.Write(0, room[9:265]), api.OK)
+	sample.Is(t, "Write of too few", d.Write(0, room[9:260]), api.ErrArg)
+	sample.Is(t, "Foreign", d.Foreign(0, 3, room[20:40]), api.OK)
+	sample.Is(t, "Foreign of none", d.Foreign(0, 3, room[20:20]), api.OK)
+	sample.Is(t, "Foreign of too many", d.Foreign(0, 3, room), api.ErrArg)
+	sample.Is(t, "Crash", d.Crash(room[5:6]), api.OK)
+	sample.Is(t, "Write", d.Write(0, room[9:265]), api.OK)
+	sample.Is(t, "Crash", d.Crash(room), api.OK)
 	d.Fail(1)
-	is(t, "Write that fails", d.Write(0, room[9:265]), api.ErrIO)
+	sample.Is(t, "Write that fails", d.Write(0, room[9:265]), api.ErrIO)
 	d.Cut(0)
-	is(t, "Write at which the power goes", d.Write(0, room[9:265]), api.ErrDown)
+	sample.Is(t, "Write at which the power goes", d.Write(0, room[9:265]), api.ErrDown)
 	if !bytes.Equal(room, was) {
 		t.Error("what was handed in has changed")
 	}
 }
 
-// wreck changes each byte of b and of the room behind it.
-func wreck(b []byte) {
-	b = b[:cap(b)]
-	for i := range b {
-		b[i] = ^b[i]
-	}
-}
-
 func TestWhatIsHandedInIsNotKept(t *testing.T) {
-	a, b, masks := mingled(1, 256), mingled(2, 100), []uint8{3, 12}
+	a, b, masks := sample.Mingled(1, 256), sample.Mingled(2, 100), []uint8{3, 12}
 	d := fresh(t, 8)
-	is(t, "Write", d.Write(0, a), api.OK)
-	is(t, "Foreign", d.Foreign(1, 7, b), api.OK)
+	sample.Is(t, "Write", d.Write(0, a), api.OK)
+	sample.Is(t, "Foreign", d.Foreign(1, 7, b), api.OK)
 	was := inside(d)
-	wreck(a)
-	wreck(b)
+	sample.Wreck(a)
+	sample.Wreck(b)
 	if got := inside(d); got != was {
 		t.Errorf("the device has kept what was handed in:\n%s\nwant\n%s", got, was)
 	}
-	is(t, "Crash", d.Crash(masks), api.OK)
+	sample.Is(t, "Crash", d.Crash(masks), api.OK)
 	was = inside(d)
-	wreck(masks)
+	sample.Wreck(masks)
 	if got := inside(d); got != was {
 		t.Errorf("the device has kept the masks of a Crash:\n%s\nwant\n%s", got, was)
 	}
-	tells(t, d, 0, laid(full(0), 0, string(mingled(1, 128))))
-	tells(t, d, 1, laid(full(0), 7, string(mingled(2, 100))))
+	tells(t, d, 0, laid(full(0), 0, string(sample.Mingled(1, 128))))
+	tells(t, d, 1, laid(full(0), 7, string(sample.Mingled(2, 100))))
 }
 
 func TestAnswersAreNewMemory(t *testing.T) {
@@ -110,7 +103,7 @@ func TestAnswersAreNewMemory(t *testing.T) {
 				for j := range list {
 					kept[j] = bytes.Clone(list[j])
 				}
-				wreck(b)
+				sample.Wreck(b)
 				for j := range list {
 					if j != k && !bytes.Equal(list[j], kept[j]) {
 						t.Errorf("the answers %d and %d of the block %d share memory", k, j, i)
@@ -125,13 +118,13 @@ func TestAnswersAreNewMemory(t *testing.T) {
 }
 
 func TestNilAndEmptyAreOne(t *testing.T) {
-	room := mingled(1, 9)
+	room := sample.Mingled(1, 9)
 	for _, none := range [][]byte{nil, {}, room[:0], room[9:]} {
 		d := busy(t)
 		stays(t, "Write of none", d, api.ErrArg, func() api.Errno { return d.Write(0, none) })
 		stays(t, "Foreign of none", d, api.OK, func() api.Errno { return d.Foreign(0, 0, none) })
 		stays(t, "Foreign of none", d, api.OK, func() api.Errno { return d.Foreign(7, 256, none) })
-		is(t, "Crash(none)", d.Crash(none), api.OK)
+		sample.Is(t, "Crash(none)", d.Crash(none), api.OK)
 		tells(t, d, 1, full('f'))
 		tells(t, d, 0, full(0))
 	}
@@ -254,7 +247,7 @@ type pair struct {
 // does asks both for something that x tells, and what they answer.
 func (p pair) does(x []byte) (what string, got, want api.Errno) {
 	i, n := int(x[1]%12)-2, int(x[2]%10)-2
-	b := mingled(uint32(x[3]), 256)
+	b := sample.Mingled(uint32(x[3]), 256)
 	if x[3]%16 == 0 {
 		b = b[:x[4]]
 	}
@@ -286,7 +279,7 @@ func (p pair) does(x []byte) (what string, got, want api.Errno) {
 func TestAllAsTheWordsSay(t *testing.T) {
 	for start := range uint32(60) {
 		list := []pair{{fresh(t, 8), newModel(8)}}
-		told := mingled(start*7919, 13*250)
+		told := sample.Mingled(start*7919, 13*250)
 		for k := range 250 {
 			x := told[13*k:][:13]
 			p := list[int(x[12])%len(list)]

@@ -12,28 +12,8 @@ import (
 	"donjon/ctr"
 	"donjon/gcm"
 	"donjon/ghash"
-	"donjon/octet"
+	"donjon/sample"
 )
-
-// raw is the bytes that the digits tell.
-func raw(t *testing.T, digits string) []byte {
-	t.Helper()
-	b, e, at := octet.Unhex(digits)
-	if e != api.OK {
-		t.Fatalf("%q is not digits at %d", digits, at)
-	}
-	return b
-}
-
-// mingled is n bytes of no order, other ones for each start.
-func mingled(start uint32, n int) []byte {
-	b := make([]byte, n)
-	for i := range b {
-		start = start*1664525 + 1013904223
-		b[i] = byte(start >> 24)
-	}
-	return b
-}
 
 // lengths is the lengths about the ends of blocks.
 var lengths = []int{0, 1, 2, 15, 16, 17, 31, 32, 33, 47, 48, 49}
@@ -45,14 +25,14 @@ var edges = []int{0, 1, 15, 16, 17, 32, 33, api.MaxText - 1, api.MaxText}
 func keys() [][]byte {
 	var list [][]byte
 	for _, size := range []int{16, 32} {
-		list = append(list, make([]byte, size), bytes.Repeat([]byte{0xff}, size), mingled(1, size), mingled(2, size))
+		list = append(list, make([]byte, size), bytes.Repeat([]byte{0xff}, size), sample.Mingled(1, size), sample.Mingled(2, size))
 	}
 	return list
 }
 
 // nonces is nonces: of noughts, of ff alone, one that differs from the first in its last bit, and another one.
 func nonces() [][]byte {
-	return [][]byte{make([]byte, 12), bytes.Repeat([]byte{0xff}, 12), append(make([]byte, 11), 1), mingled(3, 12)}
+	return [][]byte{make([]byte, 12), bytes.Repeat([]byte{0xff}, 12), append(make([]byte, 11), 1), sample.Mingled(3, 12)}
 }
 
 // sealed is Seal's answer, which has to be one.
@@ -133,11 +113,11 @@ func library(t *testing.T, key, nonce, aad, text []byte) []byte {
 
 func TestExamples(t *testing.T) {
 	none := make([]byte, 16)
-	first := raw(t, "58e2fccefa7e3061367f1d57a4e7455a")
+	first := sample.Raw(t, "58e2fccefa7e3061367f1d57a4e7455a")
 	if b := sealed(t, none, none[:12], nil, nil); !bytes.Equal(b, first) {
 		t.Errorf("Seal of none and none = %x; want %x", b, first)
 	}
-	second := raw(t, "0388dace60b6a392f328c2b971b2fe78ab6e47d42cec13bdf53a67b21257bddf")
+	second := sample.Raw(t, "0388dace60b6a392f328c2b971b2fe78ab6e47d42cec13bdf53a67b21257bddf")
 	if b := sealed(t, none, none[:12], nil, none); !bytes.Equal(b, second) {
 		t.Errorf("Seal of none and sixteen noughts = %x; want %x", b, second)
 	}
@@ -174,7 +154,7 @@ func TestKnownVectors(t *testing.T) {
 		{half + half, nonce, "", clear, great + "b094dac5d93471bdec1a502270e3cc6c"},
 		{half + half, nonce, beside, clear[:120], great[:120] + "76fc6ece0f4e1768cddf8853bb2d551b"},
 	} {
-		key, nonce, aad, text, want := raw(t, x.key), raw(t, x.nonce), raw(t, x.aad), raw(t, x.text), raw(t, x.want)
+		key, nonce, aad, text, want := sample.Raw(t, x.key), sample.Raw(t, x.nonce), sample.Raw(t, x.aad), sample.Raw(t, x.text), sample.Raw(t, x.want)
 		if b := sealed(t, key, nonce, aad, text); !bytes.Equal(b, want) {
 			t.Errorf("Seal(%x, %x, %x, %x) = %x; want %x", key, nonce, aad, text, b, want)
 		}
@@ -188,7 +168,7 @@ func TestSealIsCryptAndTheTag(t *testing.T) {
 	for _, key := range keys() {
 		for _, nonce := range nonces() {
 			for i, n := range lengths {
-				text, aad := mingled(4, n), mingled(5, lengths[len(lengths)-1-i])
+				text, aad := sample.Mingled(4, n), sample.Mingled(5, lengths[len(lengths)-1-i])
 				enciphered, e := ctr.Crypt(key, nonce, text)
 				if e != api.OK {
 					t.Fatal(e)
@@ -207,10 +187,10 @@ func TestSealIsCryptAndTheTag(t *testing.T) {
 
 func TestSealIsWhatOthersSeal(t *testing.T) {
 	for _, size := range []int{16, 32} {
-		key, nonce := mingled(6, size), mingled(7, 12)
+		key, nonce := sample.Mingled(6, size), sample.Mingled(7, 12)
 		for n := range 50 {
 			for _, m := range lengths {
-				text, aad := mingled(8, n), mingled(9, m)
+				text, aad := sample.Mingled(8, n), sample.Mingled(9, m)
 				want := library(t, key, nonce, aad, text)
 				if b := sealed(t, key, nonce, aad, text); !bytes.Equal(b, want) {
 					t.Fatalf("Seal(%x, %x, %x, %x) = %x; want %x", key, nonce, aad, text, b, want)
@@ -222,9 +202,9 @@ func TestSealIsWhatOthersSeal(t *testing.T) {
 }
 
 func TestEachLengthThatIsTaken(t *testing.T) {
-	long := mingled(10, api.MaxText)
-	for _, key := range [][]byte{mingled(11, 16), mingled(12, 32)} {
-		nonce := mingled(13, 12)
+	long := sample.Mingled(10, api.MaxText)
+	for _, key := range [][]byte{sample.Mingled(11, 16), sample.Mingled(12, 32)} {
+		nonce := sample.Mingled(13, 12)
 		for _, n := range edges {
 			for _, x := range []struct{ aad, text []byte }{{nil, long[:n]}, {long[:n], nil}, {long[:n], long[:n]}} {
 				want := library(t, key, nonce, x.aad, x.text)
@@ -239,8 +219,8 @@ func TestEachLengthThatIsTaken(t *testing.T) {
 
 func TestSealRefusesLongOnes(t *testing.T) {
 	long := make([]byte, api.MaxText+1)
-	for _, key := range [][]byte{mingled(14, 16), mingled(15, 32)} {
-		nonce := mingled(16, 12)
+	for _, key := range [][]byte{sample.Mingled(14, 16), sample.Mingled(15, 32)} {
+		nonce := sample.Mingled(16, 12)
 		for _, n := range edges {
 			unsealed(t, key, nonce, long, long[:n], api.ErrLong)
 			unsealed(t, key, nonce, long[:n], long, api.ErrLong)
@@ -260,8 +240,8 @@ func TestWhatWasSealedIsOpened(t *testing.T) {
 		for _, nonce := range nonces() {
 			for _, n := range lengths {
 				for _, m := range []int{0, 1, 16, 33} {
-					for _, text := range [][]byte{make([]byte, n), bytes.Repeat([]byte{0xff}, n), mingled(17, n)} {
-						aad := mingled(18, m)
+					for _, text := range [][]byte{make([]byte, n), bytes.Repeat([]byte{0xff}, n), sample.Mingled(17, n)} {
+						aad := sample.Mingled(18, m)
 						opens(t, key, nonce, aad, sealed(t, key, nonce, aad, text), text)
 					}
 				}
@@ -271,9 +251,9 @@ func TestWhatWasSealedIsOpened(t *testing.T) {
 }
 
 func TestOpenOfEachLength(t *testing.T) {
-	long := mingled(19, api.MaxText+17)
-	for _, key := range [][]byte{mingled(20, 16), mingled(21, 32)} {
-		nonce := mingled(22, 12)
+	long := sample.Mingled(19, api.MaxText+17)
+	for _, key := range [][]byte{sample.Mingled(20, 16), sample.Mingled(21, 32)} {
+		nonce := sample.Mingled(22, 12)
 		for n := range 16 {
 			unopened(t, key, nonce, nil, long[:n], api.ErrShort)
 			unopened(t, key, nonce, long[:api.MaxText], long[:n], api.ErrShort)
@@ -294,7 +274,7 @@ func TestOpenOfEachLength(t *testing.T) {
 }
 
 func TestWhatIsLongerThanMayBeIsRefusedWithItsRightTag(t *testing.T) {
-	key, nonce, long := mingled(23, 32), mingled(24, 12), mingled(25, api.MaxText+1)
+	key, nonce, long := sample.Mingled(23, 32), sample.Mingled(24, 12), sample.Mingled(25, api.MaxText+1)
 	unopened(t, key, nonce, nil, library(t, key, nonce, nil, long), api.ErrLong)
 	unopened(t, key, nonce, long, library(t, key, nonce, long, nil), api.ErrLong)
 	unopened(t, key, nonce, nil, library(t, key, nonce, nil, nil)[:15], api.ErrShort)
@@ -302,7 +282,7 @@ func TestWhatIsLongerThanMayBeIsRefusedWithItsRightTag(t *testing.T) {
 
 func TestOpenIsJustOfTheTagOfWhatIsThere(t *testing.T) {
 	for _, key := range keys() {
-		nonce, aad, b := mingled(26, 12), mingled(27, 20), mingled(28, 40)
+		nonce, aad, b := sample.Mingled(26, 12), sample.Mingled(27, 20), sample.Mingled(28, 40)
 		want, e := ctr.Crypt(key, nonce, b)
 		if e != api.OK {
 			t.Fatal(e)
@@ -329,7 +309,7 @@ func others(b []byte, f func()) {
 
 func TestAnyOtherByteIsRefused(t *testing.T) {
 	for _, size := range []int{16, 32} {
-		key, nonce, aad, text := mingled(29, size), mingled(30, 12), mingled(31, 17), mingled(32, 18)
+		key, nonce, aad, text := sample.Mingled(29, size), sample.Mingled(30, 12), sample.Mingled(31, 17), sample.Mingled(32, 18)
 		b := sealed(t, key, nonce, aad, text)
 		for _, part := range [][]byte{key, nonce, aad, b} {
 			others(part, func() { unopened(t, key, nonce, aad, b, api.ErrTag) })
@@ -339,7 +319,7 @@ func TestAnyOtherByteIsRefused(t *testing.T) {
 }
 
 func TestAnyOtherByteOfTheLongestIsRefused(t *testing.T) {
-	key, nonce, aad, text := mingled(33, 16), mingled(34, 12), mingled(35, api.MaxText), mingled(36, api.MaxText)
+	key, nonce, aad, text := sample.Mingled(33, 16), sample.Mingled(34, 12), sample.Mingled(35, api.MaxText), sample.Mingled(36, api.MaxText)
 	b := sealed(t, key, nonce, aad, text)
 	for _, part := range [][]byte{aad, b} {
 		places := []int{0, 1, 15, 16, 32767, 32768, len(part) - 33, len(part) - 32, len(part) - 18, len(part) - 17, len(part) - 16, len(part) - 2, len(part) - 1}
@@ -355,7 +335,7 @@ func TestAnyOtherByteOfTheLongestIsRefused(t *testing.T) {
 }
 
 func TestTwoOtherBytesDoNotMakeUpForEachOther(t *testing.T) {
-	key, nonce, aad, text := mingled(37, 16), mingled(38, 12), mingled(39, 3), mingled(40, 3)
+	key, nonce, aad, text := sample.Mingled(37, 16), sample.Mingled(38, 12), sample.Mingled(39, 3), sample.Mingled(40, 3)
 	b := sealed(t, key, nonce, aad, text)
 	for i := range b {
 		for j := range i {
@@ -370,7 +350,7 @@ func TestTwoOtherBytesDoNotMakeUpForEachOther(t *testing.T) {
 }
 
 func TestMovedBordersAreRefused(t *testing.T) {
-	key, nonce, all := mingled(41, 32), mingled(42, 12), make([]byte, 64)
+	key, nonce, all := sample.Mingled(41, 32), sample.Mingled(42, 12), make([]byte, 64)
 	for _, n := range lengths {
 		aad, text := all[:16], all[:n]
 		b := sealed(t, key, nonce, aad, text)
@@ -394,11 +374,11 @@ func TestMovedBordersAreRefused(t *testing.T) {
 // Both calls' refusals
 
 func TestKeysOfOtherLengthsAreRefused(t *testing.T) {
-	room, nonce, text := mingled(43, 80), mingled(44, 12), mingled(45, 20)
+	room, nonce, text := sample.Mingled(43, 80), sample.Mingled(44, 12), sample.Mingled(45, 20)
 	list := [][]byte{nil, {}, make([]byte, api.MaxText), room}
 	for n := range 65 {
 		if n != 16 && n != 32 {
-			list = append(list, room[:n], mingled(46, n))
+			list = append(list, room[:n], sample.Mingled(46, n))
 		}
 	}
 	for _, key := range list {
@@ -411,14 +391,14 @@ func TestKeysOfOtherLengthsAreRefused(t *testing.T) {
 }
 
 func TestNoncesOfOtherLengthsAreRefused(t *testing.T) {
-	room, text := mingled(47, 64), mingled(48, 20)
+	room, text := sample.Mingled(47, 64), sample.Mingled(48, 20)
 	list := [][]byte{nil, {}, make([]byte, 11), make([]byte, 13), room}
 	for n := range 33 {
 		if n != 12 {
 			list = append(list, room[:n])
 		}
 	}
-	for _, key := range [][]byte{mingled(49, 16), mingled(50, 32)} {
+	for _, key := range [][]byte{sample.Mingled(49, 16), sample.Mingled(50, 32)} {
 		for _, nonce := range list {
 			unsealed(t, key, nonce, text, text, api.ErrArg)
 			unopened(t, key, nonce, text, text, api.ErrArg)
@@ -464,11 +444,11 @@ func firstRefusal(right bool, beside, sealed int) api.Errno {
 
 func TestTwoTextsDifferWhereTheyDiffer(t *testing.T) {
 	for _, key := range keys() {
-		nonce := mingled(51, 12)
+		nonce := sample.Mingled(51, 12)
 		for _, n := range lengths {
-			one, two := mingled(52, n), mingled(53, n)
+			one, two := sample.Mingled(52, n), sample.Mingled(53, n)
 			copy(two[n/3:n/2], one[n/3:n/2])
-			a, b := sealed(t, key, nonce, mingled(54, 5), one), sealed(t, key, nonce, mingled(55, 40), two)
+			a, b := sealed(t, key, nonce, sample.Mingled(54, 5), one), sealed(t, key, nonce, sample.Mingled(55, 40), two)
 			if !bytes.Equal(added(a[:n], b[:n]), added(one, two)) {
 				t.Errorf("%x and %x are enciphered to %x and %x under %x", one, two, a[:n], b[:n], key)
 			}
@@ -478,11 +458,11 @@ func TestTwoTextsDifferWhereTheyDiffer(t *testing.T) {
 
 func TestBytesBesideChangeTheTagAlone(t *testing.T) {
 	for _, key := range keys() {
-		nonce := mingled(56, 12)
+		nonce := sample.Mingled(56, 12)
 		for _, n := range lengths {
-			text := mingled(57, n)
+			text := sample.Mingled(57, n)
 			was := sealed(t, key, nonce, nil, text)
-			for _, aad := range [][]byte{{0}, make([]byte, 16), mingled(58, 33), text} {
+			for _, aad := range [][]byte{{0}, make([]byte, 16), sample.Mingled(58, 33), text} {
 				b := sealed(t, key, nonce, aad, text)
 				if !bytes.Equal(b[:n], was[:n]) {
 					t.Errorf("with %x beside %x is enciphered to %x; want %x", aad, text, b[:n], was[:n])
@@ -496,7 +476,7 @@ func TestBytesBesideChangeTheTagAlone(t *testing.T) {
 }
 
 func TestTheTagSeesEachByte(t *testing.T) {
-	key, nonce, aad, text := mingled(59, 32), mingled(60, 12), mingled(61, 17), mingled(62, 17)
+	key, nonce, aad, text := sample.Mingled(59, 32), sample.Mingled(60, 12), sample.Mingled(61, 17), sample.Mingled(62, 17)
 	was := sealed(t, key, nonce, aad, text)[17:]
 	for _, part := range [][]byte{key, nonce, aad, text} {
 		others(part, func() {
@@ -510,9 +490,9 @@ func TestTheTagSeesEachByte(t *testing.T) {
 // R3, R4, R5
 
 func TestNilAndEmptyAreOne(t *testing.T) {
-	room := mingled(63, 40)
+	room := sample.Mingled(63, 40)
 	for _, key := range keys() {
-		nonce := mingled(64, 12)
+		nonce := sample.Mingled(64, 12)
 		want := library(t, key, nonce, nil, nil)
 		for _, aad := range [][]byte{nil, {}, room[:0], room[40:]} {
 			for _, text := range [][]byte{nil, {}, room[:0], room[40:]} {
@@ -529,7 +509,7 @@ func TestNilAndEmptyAreOne(t *testing.T) {
 func TestWhatIsHandedInStays(t *testing.T) {
 	for _, size := range []int{16, 32} {
 		for _, n := range lengths {
-			room := mingled(65, 240)
+			room := sample.Mingled(65, 240)
 			// The spare room of the nonce has the key in it, that of the key the bytes beside, that of those the text.
 			nonce, key, aad, text := room[8:20], room[24:24+size], room[60:60+n], room[120:120+n]
 			want := library(t, key, nonce, aad, text)
@@ -554,7 +534,7 @@ func TestWhatIsHandedInStays(t *testing.T) {
 }
 
 func TestLongOnesThatAreHandedInStay(t *testing.T) {
-	room := mingled(66, api.MaxText+17)
+	room := sample.Mingled(66, api.MaxText+17)
 	was := bytes.Clone(room)
 	key, nonce := room[:32], room[:12]
 	unsealed(t, key, nonce, room, room, api.ErrLong)
@@ -567,7 +547,7 @@ func TestLongOnesThatAreHandedInStay(t *testing.T) {
 }
 
 func TestOneTextAsAll(t *testing.T) {
-	b := mingled(67, 32)
+	b := sample.Mingled(67, 32)
 	was := bytes.Clone(b)
 	want := library(t, was, was[:12], was, was)
 	got := sealed(t, b, b[:12], b, b)
@@ -584,7 +564,7 @@ func TestOneTextAsAll(t *testing.T) {
 
 func TestAnswersAreNewMemory(t *testing.T) {
 	for _, n := range lengths {
-		key, nonce, aad, text := mingled(68, 32), mingled(69, 12), mingled(70, n), mingled(71, n)
+		key, nonce, aad, text := sample.Mingled(68, 32), sample.Mingled(69, 12), sample.Mingled(70, n), sample.Mingled(71, n)
 		seal := func() []byte { return sealed(t, key, nonce, aad, text) }
 		b := seal()
 		open := func() []byte {
@@ -621,9 +601,9 @@ func TestAnswersAreNewMemory(t *testing.T) {
 }
 
 func TestWhatLiesBesideCountsNothing(t *testing.T) {
-	roomy := func(b []byte) []byte { return append(bytes.Clone(b), mingled(72, 64)...)[:len(b)] }
+	roomy := func(b []byte) []byte { return append(bytes.Clone(b), sample.Mingled(72, 64)...)[:len(b)] }
 	for _, n := range lengths {
-		key, nonce, aad, text := mingled(73, 16), mingled(74, 12), mingled(75, n), mingled(76, n)
+		key, nonce, aad, text := sample.Mingled(73, 16), sample.Mingled(74, 12), sample.Mingled(75, n), sample.Mingled(76, n)
 		want := sealed(t, slices.Clip(key), slices.Clip(nonce), slices.Clip(aad), slices.Clip(text))
 		if b := sealed(t, roomy(key), roomy(nonce), roomy(aad), roomy(text)); !bytes.Equal(b, want) {
 			t.Errorf("with room behind them Seal of %d bytes = %x; want %x", n, b, want)
@@ -633,11 +613,11 @@ func TestWhatLiesBesideCountsNothing(t *testing.T) {
 }
 
 func TestAnswersHangOnNothingThatWasAsked(t *testing.T) {
-	key, nonce, aad, text := mingled(77, 16), mingled(78, 12), mingled(79, 21), mingled(80, 49)
+	key, nonce, aad, text := sample.Mingled(77, 16), sample.Mingled(78, 12), sample.Mingled(79, 21), sample.Mingled(80, 49)
 	was := sealed(t, key, nonce, aad, text)
 	for _, other := range keys() {
 		for _, n := range lengths {
-			b := sealed(t, other, mingled(uint32(n), 12), text, mingled(81, n))
+			b := sealed(t, other, sample.Mingled(uint32(n), 12), text, sample.Mingled(81, n))
 			unopened(t, key, nonce, aad, b, api.ErrTag)
 			unsealed(t, key, nonce[:n%12], aad, text, api.ErrArg)
 		}

@@ -8,6 +8,7 @@ import (
 	"donjon/api"
 	"donjon/ghash"
 	"donjon/octet"
+	"donjon/sample"
 )
 
 // one is the element that changes nothing: its coefficient of x^0 alone is 1.
@@ -16,20 +17,10 @@ var one = [16]byte{0x80}
 // lengths is the lengths about the ends of blocks.
 var lengths = []int{0, 1, 2, 15, 16, 17, 31, 32, 33, 47, 48, 49}
 
-// raw is the bytes that the digits tell.
-func raw(t *testing.T, digits string) []byte {
-	t.Helper()
-	b, e, at := octet.Unhex(digits)
-	if e != api.OK {
-		t.Fatalf("%q is not digits at %d", digits, at)
-	}
-	return b
-}
-
 // block is the sixteen bytes that the digits tell.
 func block(t *testing.T, digits string) [16]byte {
 	t.Helper()
-	return [16]byte(raw(t, digits))
+	return [16]byte(sample.Raw(t, digits))
 }
 
 // alone is x^power: the element that has one bit.
@@ -39,21 +30,11 @@ func alone(power int) [16]byte {
 	return x
 }
 
-// mingled is n bytes of no order, other ones for each start.
-func mingled(start uint32, n int) []byte {
-	b := make([]byte, n)
-	for i := range b {
-		start = start*1664525 + 1013904223
-		b[i] = byte(start >> 24)
-	}
-	return b
-}
-
 // elements is the elements 0 and 1, the one of all bits, those that end in one bit, and others.
 func elements() [][16]byte {
 	list := [][16]byte{{}, one, {15: 1}, {7: 1}, {8: 0x80}, {0: 0x80, 15: 1}, [16]byte(bytes.Repeat([]byte{0xff}, 16))}
 	for start := range uint32(24) {
-		list = append(list, [16]byte(mingled(start, 16)))
+		list = append(list, [16]byte(sample.Mingled(start, 16)))
 	}
 	return list
 }
@@ -262,13 +243,13 @@ func TestSumExamples(t *testing.T) {
 		{short, beside, "61353b4c2806934a777ff51fa22a4755699b2a714fcdc6f83766e5f97b6c742373806900e49f24b22b097544d4896b424989b5e1ebac0f07c23f4598", "df586bb4c249b92cb6922877e444d37b"},
 		{long, beside, "522dc1f099567d07f47f37a32a84427d643a8cdcbfe5c0c97598a2bd2555d1aa8cb08e48590dbb3da7b08b1056828838c5f61e6393ba7a0abcc9f662", "8bd0c4d8aacd391e67cca447e8c38f65"},
 	} {
-		check(t, block(t, c.h), raw(t, c.aad), raw(t, c.text), block(t, c.want))
+		check(t, block(t, c.h), sample.Raw(t, c.aad), sample.Raw(t, c.text), block(t, c.want))
 	}
 }
 
 func TestSumOfNone(t *testing.T) {
 	for _, h := range elements() {
-		for _, none := range [][]byte{nil, {}, mingled(1, 40)[:0]} {
+		for _, none := range [][]byte{nil, {}, sample.Mingled(1, 40)[:0]} {
 			check(t, h, none, nil, [16]byte{})
 			check(t, h, nil, none, [16]byte{})
 			check(t, h, none, none, [16]byte{})
@@ -277,19 +258,19 @@ func TestSumOfNone(t *testing.T) {
 }
 
 func TestNilIsAsEmpty(t *testing.T) {
-	h := [16]byte(mingled(3, 16))
+	h := [16]byte(sample.Mingled(3, 16))
 	for _, n := range lengths {
-		b := mingled(5, n)
+		b := sample.Mingled(5, n)
 		check(t, h, nil, b, ghash.Sum(h, []byte{}, b))
 		check(t, h, b, nil, ghash.Sum(h, b, []byte{}))
 	}
 }
 
 func TestSumByItsWords(t *testing.T) {
-	for _, h := range [][16]byte{{}, one, {15: 1}, [16]byte(mingled(7, 16)), [16]byte(bytes.Repeat([]byte{0xff}, 16))} {
+	for _, h := range [][16]byte{{}, one, {15: 1}, [16]byte(sample.Mingled(7, 16)), [16]byte(bytes.Repeat([]byte{0xff}, 16))} {
 		for _, m := range lengths {
 			for _, n := range lengths {
-				aad, text := mingled(11, m), mingled(13, n)
+				aad, text := sample.Mingled(11, m), sample.Mingled(13, n)
 				check(t, h, aad, text, hashed(h, aad, text))
 			}
 		}
@@ -297,9 +278,9 @@ func TestSumByItsWords(t *testing.T) {
 }
 
 func TestSumOfEachLength(t *testing.T) {
-	h := [16]byte(mingled(17, 16))
+	h := [16]byte(sample.Mingled(17, 16))
 	for n := range 100 {
-		b := mingled(19, n)
+		b := sample.Mingled(19, n)
 		check(t, h, nil, b, hashed(h, nil, b))
 		check(t, h, b, nil, hashed(h, b, nil))
 		check(t, h, b[:n/2], b, hashed(h, b[:n/2], b))
@@ -307,10 +288,10 @@ func TestSumOfEachLength(t *testing.T) {
 }
 
 func TestEachIsFilledUpByItself(t *testing.T) {
-	h := [16]byte(mingled(23, 16))
+	h := [16]byte(sample.Mingled(23, 16))
 	for _, m := range lengths {
 		for _, n := range lengths {
-			aad, text := mingled(29, m), mingled(31, n)
+			aad, text := sample.Mingled(29, m), sample.Mingled(31, n)
 			// What is filled up already is of the same blocks, but for the length block.
 			longA, longT := filled(aad), filled(text)
 			apart := ghash.Mul(added(lengthBlock(m, n), lengthBlock(len(longA), len(longT))), h)
@@ -341,9 +322,9 @@ func TestLengthBlock(t *testing.T) {
 }
 
 func TestPartedOtherwise(t *testing.T) {
-	h := [16]byte(mingled(37, 16))
+	h := [16]byte(sample.Mingled(37, 16))
 	for _, n := range lengths {
-		text := mingled(41, n)
+		text := sample.Mingled(41, n)
 		sums := map[[16]byte]int{}
 		for at := range n + 1 {
 			s := ghash.Sum(h, text[:at], text[at:])
@@ -356,8 +337,8 @@ func TestPartedOtherwise(t *testing.T) {
 }
 
 func TestNoughtsBehindMakeAnotherSum(t *testing.T) {
-	h := [16]byte(mingled(43, 16))
-	for _, b := range [][]byte{make([]byte, 49), mingled(47, 49)} {
+	h := [16]byte(sample.Mingled(43, 16))
+	for _, b := range [][]byte{make([]byte, 49), sample.Mingled(47, 49)} {
 		aads, texts := map[[16]byte]int{}, map[[16]byte]int{}
 		for n := range 40 {
 			longer := append(bytes.Clone(b), make([]byte, n)...)
@@ -371,8 +352,8 @@ func TestNoughtsBehindMakeAnotherSum(t *testing.T) {
 }
 
 func TestSumSeesEachBit(t *testing.T) {
-	h := [16]byte(mingled(53, 16))
-	aad, text := mingled(59, 33), mingled(61, 47)
+	h := [16]byte(sample.Mingled(53, 16))
+	aad, text := sample.Mingled(59, 33), sample.Mingled(61, 47)
 	was := ghash.Sum(h, aad, text)
 	for _, b := range [][]byte{aad, text} {
 		for bit := range 8 * len(b) {
@@ -386,12 +367,12 @@ func TestSumSeesEachBit(t *testing.T) {
 }
 
 func TestSumsOfTextsOfOneLength(t *testing.T) {
-	h := [16]byte(mingled(67, 16))
+	h := [16]byte(sample.Mingled(67, 16))
 	for _, m := range lengths {
 		for _, n := range lengths {
 			var aad, text [3][]byte
 			for i := range 3 {
-				aad[i], text[i] = mingled(uint32(71+i), m), mingled(uint32(79+i), n)
+				aad[i], text[i] = sample.Mingled(uint32(71+i), m), sample.Mingled(uint32(79+i), n)
 			}
 			aad[2], _ = octet.Xor(aad[0], aad[1])
 			text[2], _ = octet.Xor(text[0], text[1])
@@ -402,8 +383,8 @@ func TestSumsOfTextsOfOneLength(t *testing.T) {
 }
 
 func TestSumOfALongText(t *testing.T) {
-	h := [16]byte(mingled(83, 16))
-	text := mingled(89, api.MaxText+1)
+	h := [16]byte(sample.Mingled(83, 16))
+	text := sample.Mingled(89, api.MaxText+1)
 	var s [16]byte
 	for i := 0; i < len(text); i += 16 {
 		s = ghash.Mul(added(s, [16]byte(filled(text[i:min(i+16, len(text))]))), h)
@@ -417,8 +398,8 @@ func TestSumOfALongText(t *testing.T) {
 func TestWhatIsHandedInStays(t *testing.T) {
 	for _, m := range lengths {
 		for _, n := range lengths {
-			h, x := [16]byte(mingled(97, 16)), [16]byte(mingled(101, 16))
-			room := mingled(103, 200)
+			h, x := [16]byte(sample.Mingled(97, 16)), [16]byte(sample.Mingled(101, 16))
+			room := sample.Mingled(103, 200)
 			was, wasH, wasX := bytes.Clone(room), h, x
 			// The spare room of both is at hand, that of aad with the text in it.
 			want := hashed(h, was[8:8+m], was[64:64+n])
@@ -437,25 +418,25 @@ func TestWhatIsHandedInStays(t *testing.T) {
 }
 
 func TestOneTextAsBoth(t *testing.T) {
-	h := [16]byte(mingled(107, 16))
-	b := mingled(109, 40)
+	h := [16]byte(sample.Mingled(107, 16))
+	b := sample.Mingled(109, 40)
 	want := hashed(h, bytes.Clone(b), bytes.Clone(b))
 	check(t, h, b, b, want)
 	check(t, h, b[:33], b[7:], hashed(h, bytes.Clone(b[:33]), bytes.Clone(b[7:])))
 }
 
 func TestWhatLiesBesideCountsNothing(t *testing.T) {
-	h := [16]byte(mingled(113, 16))
+	h := [16]byte(sample.Mingled(113, 16))
 	for _, n := range lengths {
-		b := mingled(127, n)
-		tight, roomy := slices.Clip(bytes.Clone(b)), append(bytes.Clone(b), mingled(131, 64)...)[:n]
+		b := sample.Mingled(127, n)
+		tight, roomy := slices.Clip(bytes.Clone(b)), append(bytes.Clone(b), sample.Mingled(131, 64)...)[:n]
 		check(t, h, roomy, roomy, ghash.Sum(h, tight, tight))
 	}
 }
 
 func TestAnswersHangOnNothingThatWasAsked(t *testing.T) {
-	h := [16]byte(mingled(137, 16))
-	text := mingled(139, 33)
+	h := [16]byte(sample.Mingled(137, 16))
+	text := sample.Mingled(139, 33)
 	sum, p := ghash.Sum(h, text, text), ghash.Mul(h, one)
 	for _, x := range elements() {
 		ghash.Mul(x, h)

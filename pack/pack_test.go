@@ -11,17 +11,8 @@ import (
 
 	"donjon/api"
 	"donjon/pack"
+	"donjon/sample"
 )
-
-// mingled is n bytes of no order, other ones for each start.
-func mingled(start uint32, n int) []byte {
-	b := make([]byte, n)
-	for i := range b {
-		start = start*1664525 + 1013904223
-		b[i] = byte(start >> 24)
-	}
-	return b
-}
 
 // edges is the numbers at the ends of each count of groups, and about them.
 func edges() []uint64 {
@@ -209,7 +200,7 @@ func numbers() []uint64 {
 		}
 	}
 	for i := range uint32(2000) {
-		list = append(list, binary.BigEndian.Uint64(mingled(i, 8))>>(i%64))
+		list = append(list, binary.BigEndian.Uint64(sample.Mingled(i, 8))>>(i%64))
 	}
 	return list
 }
@@ -232,7 +223,7 @@ var sizes = []int{0, 1, 2, 3, 126, 127, 128, 129, 255, 256, 16382, 16383, 16384,
 
 func TestTextIsItsLengthAndItself(t *testing.T) {
 	for _, n := range sizes {
-		for _, s := range [][]byte{mingled(1, n), make([]byte, n), bytes.Repeat([]byte{0xff}, n)} {
+		for _, s := range [][]byte{sample.Mingled(1, n), make([]byte, n), bytes.Repeat([]byte{0xff}, n)} {
 			want := append(binary.AppendUvarint(nil, uint64(n)), s...)
 			if b := pack.Text(s); !bytes.Equal(b, want) {
 				t.Errorf("Text of %d bytes tells something else, of %d bytes", n, len(b))
@@ -383,7 +374,7 @@ func TestNumOfAllBytesOfAFew(t *testing.T) {
 	for size := range 13 {
 		for i := range 3000 {
 			b := make([]byte, size)
-			for j, x := range mingled(uint32(3000*size+i), size) {
+			for j, x := range sample.Mingled(uint32(3000*size+i), size) {
 				b[j] = of[4+x%2]
 				// The bytes that end a number are rare, so that long ones come.
 				if x>>1%8 == 0 {
@@ -426,7 +417,7 @@ func mosts(n int) []int {
 
 func TestTextOfEachMost(t *testing.T) {
 	for _, n := range []int{0, 1, 2, 5, 127, 128, 300, 16384} {
-		s := mingled(2, n)
+		s := sample.Mingled(2, n)
 		b := string(pack.Text(s))
 		for _, most := range mosts(n) {
 			for _, front := range fronts {
@@ -452,7 +443,7 @@ func TestTextOfEachMost(t *testing.T) {
 
 func TestTextOfTooFewBytes(t *testing.T) {
 	for _, n := range []int{1, 2, 5, 127, 128, 300} {
-		b := string(pack.Text(mingled(3, n)))
+		b := string(pack.Text(sample.Mingled(3, n)))
 		head := len(b) - n
 		for size := range n {
 			for _, most := range mosts(n) {
@@ -589,7 +580,7 @@ func TestLeftAndDoneBehindEachCall(t *testing.T) {
 
 func TestDoneWithAByteLeftIsNoFault(t *testing.T) {
 	for n := range 12 {
-		b := mingled(4, n)
+		b := sample.Mingled(4, n)
 		r := pack.NewReader(b)
 		for i, want := range b {
 			for range 3 {
@@ -629,14 +620,14 @@ func TestWhatWasWrittenIsRead(t *testing.T) {
 	var all []byte
 	list := edges()
 	for i, n := range list {
-		all = slices.Concat(all, pack.Num(n), pack.Text(mingled(uint32(i), 11*i)), []byte{byte(i)})
+		all = slices.Concat(all, pack.Num(n), pack.Text(sample.Mingled(uint32(i), 11*i)), []byte{byte(i)})
 	}
 	r := pack.NewReader(all)
 	for i, n := range list {
 		if got := r.Num(); got != n {
 			t.Fatalf("Num = %d; want %d", got, n)
 		}
-		if b := r.Text(11 * i); !bytes.Equal(b, mingled(uint32(i), 11*i)) {
+		if b := r.Text(11 * i); !bytes.Equal(b, sample.Mingled(uint32(i), 11*i)) {
 			t.Fatalf("Text(%d) = %x", 11*i, b)
 		}
 		if x := r.Byte(); x != byte(i) {
@@ -645,7 +636,7 @@ func TestWhatWasWrittenIsRead(t *testing.T) {
 	}
 	stands(t, "all", r, 0, api.OK, len(all))
 	for _, n := range sizes {
-		s := mingled(5, n)
+		s := sample.Mingled(5, n)
 		b := pack.Text(s)
 		r := pack.NewReader(b)
 		if got := r.Text(n); !bytes.Equal(got, s) {
@@ -718,7 +709,7 @@ func (m *model) done() (api.Errno, int) {
 
 func TestReadingAsTheWordsSay(t *testing.T) {
 	for i := range uint32(20000) {
-		b := mingled(i, int(i%40))
+		b := sample.Mingled(i, int(i%40))
 		for j, x := range b {
 			// Small numbers, so that texts come to their ends.
 			if x%4 != 0 {
@@ -726,7 +717,7 @@ func TestReadingAsTheWordsSay(t *testing.T) {
 			}
 		}
 		r, m := pack.NewReader(b), &model{b: b}
-		for _, x := range mingled(^i, 30) {
+		for _, x := range sample.Mingled(^i, 30) {
 			what := "Byte"
 			var same bool
 			switch most := int(x>>2) - 8; x >> 3 % 3 {
@@ -749,7 +740,7 @@ func TestReadingAsTheWordsSay(t *testing.T) {
 // R3, R4, R5
 
 func TestNilAndEmptyAreOne(t *testing.T) {
-	room := mingled(6, 8)
+	room := sample.Mingled(6, 8)
 	for _, none := range [][]byte{nil, {}, room[:0], room[8:]} {
 		if b := pack.Text(none); !bytes.Equal(b, []byte{0}) {
 			t.Errorf("Text of none = %x", b)
@@ -765,8 +756,8 @@ func TestNilAndEmptyAreOne(t *testing.T) {
 
 func TestWhatIsHandedInStays(t *testing.T) {
 	for _, n := range []int{0, 1, 5, 127, 128, 300} {
-		room := mingled(7, n+40)
-		copy(room[10:], pack.Text(mingled(8, n)))
+		room := sample.Mingled(7, n+40)
+		copy(room[10:], pack.Text(sample.Mingled(8, n)))
 		was := bytes.Clone(room)
 		if b := pack.Text(room[10 : 10+n]); !bytes.Equal(b[len(b)-n:], was[10:10+n]) {
 			t.Errorf("Text of %d bytes in the midst of others = %x", n, b)
@@ -803,7 +794,7 @@ func TestWhatLiesBesideCountsNothing(t *testing.T) {
 }
 
 func TestAReaderReadsACopy(t *testing.T) {
-	s := mingled(9, 200)
+	s := sample.Mingled(9, 200)
 	b := slices.Concat(pack.Text(s), []byte{7}, pack.Num(1<<40))
 	want := len(b)
 	r := pack.NewReader(b)
@@ -823,33 +814,25 @@ func TestAReaderReadsACopy(t *testing.T) {
 	stands(t, "a copy", r, 0, api.OK, want)
 }
 
-// wreck changes each byte of b and of the room behind it.
-func wreck(b []byte) {
-	b = b[:cap(b)]
-	for i := range b {
-		b[i] = ^b[i]
-	}
-}
-
 func TestAnswersAreNewMemory(t *testing.T) {
 	for _, n := range []uint64{0, 1, 127, 128, 1 << 63} {
 		one, two := pack.Num(n), pack.Num(n)
 		want := bytes.Clone(two)
-		wreck(one)
+		sample.Wreck(one)
 		if !bytes.Equal(two, want) || !bytes.Equal(pack.Num(n), want) {
 			t.Errorf("two answers of Num(%d) share memory", n)
 		}
 	}
 	for _, n := range []int{0, 1, 5, 127, 128, 300} {
-		s := mingled(10, n)
+		s := sample.Mingled(10, n)
 		was := bytes.Clone(s)
 		one, two := pack.Text(s), pack.Text(s)
 		want := bytes.Clone(two)
-		wreck(one)
+		sample.Wreck(one)
 		if !bytes.Equal(two, want) || !bytes.Equal(s, was) {
 			t.Errorf("an answer of Text of %d bytes shares memory", n)
 		}
-		wreck(s)
+		sample.Wreck(s)
 		if !bytes.Equal(two, want) {
 			t.Errorf("an answer of Text of %d bytes changes with what was handed in", n)
 		}
@@ -858,12 +841,12 @@ func TestAnswersAreNewMemory(t *testing.T) {
 
 func TestTextsThatAreReadAreNewMemory(t *testing.T) {
 	for _, n := range []int{0, 1, 5, 127, 128, 300} {
-		one, two := mingled(11, n), mingled(12, n)
+		one, two := sample.Mingled(11, n), sample.Mingled(12, n)
 		b := slices.Concat(pack.Text(one), pack.Text(two), []byte{9})
 		was := bytes.Clone(b)
 		r, other := pack.NewReader(b), pack.NewReader(b)
 		got := r.Text(n)
-		wreck(got)
+		sample.Wreck(got)
 		if !bytes.Equal(b, was) {
 			t.Errorf("a text of %d bytes that was read shares memory with what was handed in", n)
 		}
@@ -871,11 +854,11 @@ func TestTextsThatAreReadAreNewMemory(t *testing.T) {
 		if !bytes.Equal(second, two) {
 			t.Errorf("a text of %d bytes that was read shares memory with its reader", n)
 		}
-		wreck(got)
+		sample.Wreck(got)
 		if !bytes.Equal(second, two) {
 			t.Errorf("two texts of %d bytes that were read share memory", n)
 		}
-		wreck(second)
+		sample.Wreck(second)
 		if x := r.Byte(); x != 9 {
 			t.Errorf("behind a text of %d bytes stands %d; want 9", n, x)
 		}

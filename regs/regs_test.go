@@ -10,6 +10,7 @@ import (
 	"donjon/api"
 	"donjon/disk"
 	"donjon/regs"
+	"donjon/sample"
 )
 
 // fresh is a new device.
@@ -41,36 +42,18 @@ func at(t *testing.T, limit, reserved, committed uint64, draws ...[]byte) (*regs
 		gives(t, "Reserve", r, n+1)
 	}
 	if committed > 0 {
-		is(t, "Advance", r.Advance(committed), api.OK)
+		sample.Is(t, "Advance", r.Advance(committed), api.OK)
 	}
 	return r, d
-}
-
-// mingled is n bytes of no order, other ones for each start.
-func mingled(start uint32, n int) []byte {
-	b := make([]byte, n)
-	for i := range b {
-		start = start*1664525 + 1013904223
-		b[i] = byte(start >> 24)
-	}
-	return b
 }
 
 // lot is draws of these lengths.
 func lot(lengths ...int) [][]byte {
 	l := make([][]byte, len(lengths))
 	for i, n := range lengths {
-		l[i] = mingled(uint32(i), n)
+		l[i] = sample.Mingled(uint32(i), n)
 	}
 	return l
-}
-
-// is holds it that a call answers the error want.
-func is(t *testing.T, what string, e, want api.Errno) {
-	t.Helper()
-	if e != want {
-		t.Errorf("%s: %v; want %v", what, e, want)
-	}
 }
 
 // holds holds it what the registers tell.
@@ -186,9 +169,9 @@ func TestExamples(t *testing.T) {
 	keeps(t, "the third", r, api.ErrSpent)
 	holds(t, "behind Reserve", r, 2, 0, 2)
 
-	is(t, "Advance(0)", r.Advance(0), api.ErrArg)
-	is(t, "Advance(2)", r.Advance(2), api.OK)
-	is(t, "Advance(1)", r.Advance(1), api.ErrArg)
+	sample.Is(t, "Advance(0)", r.Advance(0), api.ErrArg)
+	sample.Is(t, "Advance(2)", r.Advance(2), api.OK)
+	sample.Is(t, "Advance(1)", r.Advance(1), api.ErrArg)
 	holds(t, "behind Advance", r, 2, 2, 2)
 
 	draws(t, "the first draw", r, 3, []byte("aaa"))
@@ -241,20 +224,20 @@ func TestNewIsNoStep(t *testing.T) {
 		if d.Steps() != 0 || d.Down() {
 			t.Errorf("New counts %d steps, the power is off: %v", d.Steps(), d.Down())
 		}
-		is(t, "the step behind New", d.Step(), want)
+		sample.Is(t, "the step behind New", d.Step(), want)
 	}
 	d := fresh(t)
 	off(d)
 	r := beside(t, d, 9, lot(5)...)
 	holds(t, "New with the power off", r, 0, 0, 1)
 	keeps(t, "New with the power off", r, api.ErrDown)
-	is(t, "Crash", d.Crash(nil), api.OK)
+	sample.Is(t, "Crash", d.Crash(nil), api.OK)
 	gives(t, "behind the power's coming again", r, 1)
 }
 
 func TestNewBesideADeviceThatWasUsed(t *testing.T) {
 	r, d := at(t, 9, 5, 3, lot(5, 6)...)
-	is(t, "Write", d.Write(0, make([]byte, api.Block)), api.OK)
+	sample.Is(t, "Write", d.Write(0, make([]byte, api.Block)), api.OK)
 	s := beside(t, d, 9, lot(7)...)
 	holds(t, "the new ones", s, 0, 0, 1)
 	holds(t, "the old ones", r, 5, 3, 2)
@@ -316,17 +299,17 @@ func TestReserveAboutTheLimit(t *testing.T) {
 	holds(t, "one below the limit", r, 4, 2, 0)
 	gives(t, "one below the limit", r, 5)
 	keeps(t, "at the limit", r, api.ErrSpent)
-	is(t, "Advance(5)", r.Advance(5), api.OK)
+	sample.Is(t, "Advance(5)", r.Advance(5), api.OK)
 	keeps(t, "at the limit, all of it counting", r, api.ErrSpent)
 	holds(t, "at the limit", r, 5, 5, 0)
 }
 
 func TestReserveDoesNothingElseToTheDevice(t *testing.T) {
 	r, d := at(t, 9, 0, 0)
-	b := mingled(1, api.Block)
-	is(t, "Write", d.Write(3, b), api.OK)
+	b := sample.Mingled(1, api.Block)
+	sample.Is(t, "Write", d.Write(3, b), api.OK)
 	gives(t, "a write waiting", r, 1)
-	is(t, "Advance", r.Advance(1), api.OK)
+	sample.Is(t, "Advance", r.Advance(1), api.OK)
 	firm, _ := d.Firm(3)
 	now, _ := d.Read(3)
 	if d.Waiting() != 1 || d.Steps() != 3 || !bytes.Equal(firm, make([]byte, api.Block)) || !bytes.Equal(now, b) {
@@ -341,7 +324,7 @@ func TestSpentComesAheadOfTheStep(t *testing.T) {
 			trouble(d)
 			what := fmt.Sprintf("at the limit %d, ahead of %v", limit, want)
 			stays(t, what, r, d, func() { keeps(t, what, r, api.ErrSpent) })
-			is(t, what+": the step that was not asked", d.Step(), want)
+			sample.Is(t, what+": the step that was not asked", d.Step(), want)
 		}
 		r, d := at(t, limit, limit, 0, lot(3)...)
 		off(d)
@@ -385,7 +368,7 @@ func TestReserveWhereThePowerGoes(t *testing.T) {
 				t.Errorf("behind Cut(%d) %d steps have counted, the power is off: %v", n, d.Steps(), d.Down())
 			}
 		}
-		is(t, "Crash", d.Crash(nil), api.OK)
+		sample.Is(t, "Crash", d.Crash(nil), api.OK)
 		holds(t, "behind a Crash", r, uint64(n), 0, 1)
 		gives(t, "behind a Crash", r, uint64(n)+1)
 		drains(t, "behind a Crash", r, lot(3)...)
@@ -402,11 +385,11 @@ func TestAdvanceOfEachNumber(t *testing.T) {
 				r, d := at(t, 6, reserved, committed, lot(3)...)
 				what := fmt.Sprintf("reserved %d, committed %d, Advance(%d)", reserved, committed, n)
 				if n <= committed || n > reserved {
-					stays(t, what, r, d, func() { is(t, what, r.Advance(n), api.ErrArg) })
+					stays(t, what, r, d, func() { sample.Is(t, what, r.Advance(n), api.ErrArg) })
 					continue
 				}
 				was := d.Steps()
-				is(t, what, r.Advance(n), api.OK)
+				sample.Is(t, what, r.Advance(n), api.OK)
 				holds(t, what, r, reserved, n, 1)
 				if d.Steps() != was+1 {
 					t.Errorf("%s: %d steps", what, d.Steps()-was)
@@ -421,7 +404,7 @@ func TestAdvanceAheadOfReserve(t *testing.T) {
 	for _, limit := range limits() {
 		r, d := at(t, limit, 0, 0)
 		for _, n := range limits() {
-			stays(t, "Advance", r, d, func() { is(t, fmt.Sprintf("Advance(%d) ahead of Reserve", n), r.Advance(n), api.ErrArg) })
+			stays(t, "Advance", r, d, func() { sample.Is(t, fmt.Sprintf("Advance(%d) ahead of Reserve", n), r.Advance(n), api.ErrArg) })
 		}
 	}
 }
@@ -433,11 +416,11 @@ func TestAdvanceGoesOn(t *testing.T) {
 			r.Reserve()
 		}
 		// It may leave numbers out, and it may be told of the last one.
-		is(t, "Advance", r.Advance(5*k-2), api.OK)
-		is(t, "Advance to where it stands", r.Advance(5*k-2), api.ErrArg)
-		is(t, "Advance back", r.Advance(5*k-3), api.ErrArg)
-		is(t, "Advance", r.Advance(5*k), api.OK)
-		is(t, "Advance beyond what was given out", r.Advance(5*k+1), api.ErrArg)
+		sample.Is(t, "Advance", r.Advance(5*k-2), api.OK)
+		sample.Is(t, "Advance to where it stands", r.Advance(5*k-2), api.ErrArg)
+		sample.Is(t, "Advance back", r.Advance(5*k-3), api.ErrArg)
+		sample.Is(t, "Advance", r.Advance(5*k), api.OK)
+		sample.Is(t, "Advance beyond what was given out", r.Advance(5*k+1), api.ErrArg)
 		holds(t, "Advance", r, 5*k, 5*k, 0)
 	}
 }
@@ -448,12 +431,12 @@ func TestArgComesAheadOfTheStep(t *testing.T) {
 			r, d := at(t, 9, 4, 2, lot(3)...)
 			trouble(d)
 			what := fmt.Sprintf("Advance(%d) ahead of %v", n, want)
-			stays(t, what, r, d, func() { is(t, what, r.Advance(n), api.ErrArg) })
-			is(t, what+": the step that was not asked", d.Step(), want)
+			stays(t, what, r, d, func() { sample.Is(t, what, r.Advance(n), api.ErrArg) })
+			sample.Is(t, what+": the step that was not asked", d.Step(), want)
 		}
 		r, d := at(t, 9, 4, 2, lot(3)...)
 		off(d)
-		stays(t, "Advance with the power off", r, d, func() { is(t, "Advance with the power off", r.Advance(n), api.ErrArg) })
+		stays(t, "Advance with the power off", r, d, func() { sample.Is(t, "Advance with the power off", r.Advance(n), api.ErrArg) })
 	}
 }
 
@@ -465,10 +448,10 @@ func TestAdvanceAtAStepThatFails(t *testing.T) {
 		for k := 1; k < 10; k++ {
 			what := fmt.Sprintf("Fail(%d), the step %d", n, k)
 			if k == n {
-				is(t, what, r.Advance(want+1), api.ErrIO)
+				sample.Is(t, what, r.Advance(want+1), api.ErrIO)
 			} else {
 				want++
-				is(t, what, r.Advance(want), api.OK)
+				sample.Is(t, what, r.Advance(want), api.OK)
 			}
 			holds(t, what, r, 20, want, 1)
 			if d.Steps() != 20+uint64(k) {
@@ -484,18 +467,18 @@ func TestAdvanceWhereThePowerGoes(t *testing.T) {
 		r, d := at(t, 9, 9, 0, lot(3)...)
 		d.Cut(n)
 		for k := range uint64(n) {
-			is(t, fmt.Sprintf("Cut(%d)", n), r.Advance(k+1), api.OK)
+			sample.Is(t, fmt.Sprintf("Cut(%d)", n), r.Advance(k+1), api.OK)
 		}
 		for range 3 {
-			is(t, fmt.Sprintf("behind Cut(%d)", n), r.Advance(9), api.ErrDown)
+			sample.Is(t, fmt.Sprintf("behind Cut(%d)", n), r.Advance(9), api.ErrDown)
 			holds(t, fmt.Sprintf("behind Cut(%d)", n), r, 9, uint64(n), 1)
 			if d.Steps() != 9+uint64(n) || !d.Down() {
 				t.Errorf("behind Cut(%d) %d steps have counted, the power is off: %v", n, d.Steps(), d.Down())
 			}
 		}
-		is(t, "Crash", d.Crash(nil), api.OK)
+		sample.Is(t, "Crash", d.Crash(nil), api.OK)
 		holds(t, "behind a Crash", r, 9, uint64(n), 1)
-		is(t, "Advance behind a Crash", r.Advance(9), api.OK)
+		sample.Is(t, "Advance behind a Crash", r.Advance(9), api.OK)
 		drains(t, "behind a Crash", r, lot(3)...)
 	}
 }
@@ -548,7 +531,7 @@ func TestDrawsComeInTheirOrder(t *testing.T) {
 func TestManyDraws(t *testing.T) {
 	list := make([][]byte, 3000)
 	for i := range list {
-		list[i] = mingled(uint32(i), 16)
+		list[i] = sample.Mingled(uint32(i), 16)
 	}
 	r, _ := at(t, 9, 0, 0, list...)
 	drains(t, "3000 draws", r, list...)
@@ -568,7 +551,7 @@ func TestWhatIsTooShortStays(t *testing.T) {
 
 	// A long one behind a short one is not told in its place; and an empty one is never told.
 	for _, none := range [][]byte{nil, {}} {
-		r, d = at(t, 9, 0, 0, none, mingled(1, 64))
+		r, d = at(t, 9, 0, 0, none, sample.Mingled(1, 64))
 		stays(t, "Draw", r, d, func() {
 			for size := 1; size <= 64; size++ {
 				refuses(t, "an empty draw", r, size, api.ErrDry)
@@ -605,7 +588,7 @@ func TestDrawIsNoStep(t *testing.T) {
 		if d.Steps() != steps || d.Down() {
 			t.Errorf("Draw counts %d steps, the power is off: %v", d.Steps()-steps, d.Down())
 		}
-		is(t, "the step behind Draw", d.Step(), want)
+		sample.Is(t, "the step behind Draw", d.Step(), want)
 	}
 	r, d := at(t, 9, 4, 2, list...)
 	off(d)
@@ -621,24 +604,24 @@ func TestACrashChangesNothingOfTheRegisters(t *testing.T) {
 	for _, masks := range [][]uint8{nil, {0}, {15}, {3, 12}, bytes.Repeat([]byte{255}, 20)} {
 		for _, power := range []func(d *disk.Disk){func(d *disk.Disk) {}, off, func(d *disk.Disk) { d.Cut(0) }} {
 			r, d := at(t, 9, 4, 2, list...)
-			is(t, "Sync", d.Sync(), api.OK)
+			sample.Is(t, "Sync", d.Sync(), api.OK)
 			gives(t, "Reserve that no Sync follows", r, 5)
-			is(t, "Advance that no Sync follows", r.Advance(3), api.OK)
+			sample.Is(t, "Advance that no Sync follows", r.Advance(3), api.OK)
 			draws(t, "Draw that no Sync follows", r, 4, list[0][:4])
-			is(t, "Write", d.Write(1, mingled(1, api.Block)), api.OK)
+			sample.Is(t, "Write", d.Write(1, sample.Mingled(1, api.Block)), api.OK)
 			steps := d.Steps()
 			power(d)
 			for range 2 {
-				is(t, "Crash", d.Crash(masks), api.OK)
+				sample.Is(t, "Crash", d.Crash(masks), api.OK)
 				holds(t, "behind a Crash", r, 5, 3, 2)
 			}
 			if d.Steps() != steps {
 				t.Errorf("behind a Crash %d steps more have counted", d.Steps()-steps)
 			}
-			is(t, "Advance to where it stands", r.Advance(3), api.ErrArg)
-			is(t, "Advance beyond what was given out", r.Advance(6), api.ErrArg)
+			sample.Is(t, "Advance to where it stands", r.Advance(3), api.ErrArg)
+			sample.Is(t, "Advance beyond what was given out", r.Advance(6), api.ErrArg)
 			gives(t, "behind a Crash", r, 6)
-			is(t, "Advance behind a Crash", r.Advance(6), api.OK)
+			sample.Is(t, "Advance behind a Crash", r.Advance(6), api.OK)
 			drains(t, "behind a Crash", r, list[1:]...)
 		}
 	}

@@ -10,6 +10,7 @@ import (
 	"donjon/api"
 	"donjon/disk"
 	"donjon/regs"
+	"donjon/sample"
 )
 
 // Registers that are not there
@@ -20,7 +21,7 @@ func TestRegistersThatAreNotThere(t *testing.T) {
 		holds(t, "none", r, 0, 0, 0)
 		keeps(t, "none", r, api.ErrNil)
 		for _, n := range limits() {
-			is(t, "Advance of none", r.Advance(n), api.ErrNil)
+			sample.Is(t, "Advance of none", r.Advance(n), api.ErrNil)
 		}
 		for _, size := range []int{math.MinInt, -1, 0, 1, 64, 65, math.MaxInt} {
 			refuses(t, "none", r, size, api.ErrNil)
@@ -30,33 +31,25 @@ func TestRegistersThatAreNotThere(t *testing.T) {
 
 // R3, R4 (memory, lists)
 
-// wreck changes each byte of b and of the room behind it.
-func wreck(b []byte) {
-	b = b[:cap(b)]
-	for i := range b {
-		b[i] = ^b[i]
-	}
-}
-
 func TestDrawsHandedInStay(t *testing.T) {
-	room := mingled(1, 400)
+	room := sample.Mingled(1, 400)
 	was := bytes.Clone(room)
 	list := [][]byte{room[3:10], nil, room[20:90], {}, room[5:5], room[100:101], room[300:]}
 	held := slices.Clone(list)
 	r, _ := at(t, 9, 0, 0, list[:2]...)
 	b, _ := r.Draw(7)
-	wreck(b)
+	sample.Wreck(b)
 	refuses(t, "an empty one", r, 1, api.ErrDry)
 	r, d := at(t, 9, 0, 0, list[2:3]...)
 	gives(t, "Reserve", r, 1)
-	is(t, "Advance", r.Advance(1), api.OK)
+	sample.Is(t, "Advance", r.Advance(1), api.OK)
 	b, _ = r.Draw(64)
-	wreck(b)
-	is(t, "Crash", d.Crash(nil), api.OK)
+	sample.Wreck(b)
+	sample.Is(t, "Crash", d.Crash(nil), api.OK)
 	r, _ = at(t, 9, 0, 0, list[5:]...)
 	for _, size := range []int{65, 2, 1, 50} {
 		b, _ = r.Draw(size)
-		wreck(b)
+		sample.Wreck(b)
 	}
 	if !bytes.Equal(room, was) {
 		t.Error("the draws handed in have changed")
@@ -73,7 +66,7 @@ func TestDrawsHandedInAreNotKept(t *testing.T) {
 	list := lot(5, 64, 65, 1)
 	r, _ := at(t, 9, 0, 0, list...)
 	for _, b := range list {
-		wreck(b)
+		sample.Wreck(b)
 	}
 	drains(t, "draws written over", r, want...)
 
@@ -81,10 +74,10 @@ func TestDrawsHandedInAreNotKept(t *testing.T) {
 	r, _ = at(t, 9, 0, 0, list...)
 	draws(t, "the first one", r, 5, want[0])
 	for i := range list {
-		wreck(list[i])
-		list[i] = mingled(9, 70)
+		sample.Wreck(list[i])
+		list[i] = sample.Mingled(9, 70)
 	}
-	list = append(list[:1], mingled(8, 70), nil)
+	list = append(list[:1], sample.Mingled(8, 70), nil)
 	drains(t, "a list written over", r, want[1:]...)
 	if len(list) != 3 {
 		t.Error("the list handed in has changed")
@@ -92,7 +85,7 @@ func TestDrawsHandedInAreNotKept(t *testing.T) {
 }
 
 func TestDrawsMayShareMemory(t *testing.T) {
-	room := mingled(1, 100)
+	room := sample.Mingled(1, 100)
 	was := bytes.Clone(room)
 	list := [][]byte{room[0:40], room[20:60], room[0:40], room, room[99:], room[:1]}
 	r, _ := at(t, 9, 0, 0, list...)
@@ -101,24 +94,24 @@ func TestDrawsMayShareMemory(t *testing.T) {
 		if !bytes.Equal(got, b) || e != api.OK {
 			t.Errorf("the draw %d: %x, %v; want %x", k, got, e, b)
 		}
-		wreck(got)
-		wreck(room)
+		sample.Wreck(got)
+		sample.Wreck(room)
 	}
 }
 
 func TestAnswersAreNewMemory(t *testing.T) {
-	same := mingled(1, 64)
-	r, _ := at(t, 9, 0, 0, same, same, same[:9], mingled(2, 70), same)
+	same := sample.Mingled(1, 64)
+	r, _ := at(t, 9, 0, 0, same, same, same[:9], sample.Mingled(2, 70), same)
 	s := beside(t, fresh(t), 9, same)
 	var answers, kept [][]byte
 	for _, r := range []*regs.Regs{r, r, r, r, s} {
 		b, e := r.Draw(9)
-		is(t, "Draw", e, api.OK)
+		sample.Is(t, "Draw", e, api.OK)
 		answers = append(answers, b)
 		kept = append(kept, bytes.Clone(b))
 	}
 	for k, b := range answers {
-		wreck(b)
+		sample.Wreck(b)
 		for j := range answers {
 			if j > k && !bytes.Equal(answers[j], kept[j]) {
 				t.Errorf("the answers %d and %d share memory", k, j)
@@ -126,7 +119,7 @@ func TestAnswersAreNewMemory(t *testing.T) {
 		}
 	}
 	drains(t, "behind answers that were written over", r, same)
-	if !bytes.Equal(same, mingled(1, 64)) {
+	if !bytes.Equal(same, sample.Mingled(1, 64)) {
 		t.Error("an answer shares memory with a draw that was handed in")
 	}
 }
@@ -134,11 +127,11 @@ func TestAnswersAreNewMemory(t *testing.T) {
 func TestNilAndEmptyAreOne(t *testing.T) {
 	for _, list := range [][][]byte{nil, {}, lot(5)[:0], lot(5)[1:]} {
 		r, e := regs.New(fresh(t), 9, list)
-		is(t, "New with no draws", e, api.OK)
+		sample.Is(t, "New with no draws", e, api.OK)
 		holds(t, "no draws", r, 0, 0, 0)
 		refuses(t, "no draws", r, 1, api.ErrDry)
 		gives(t, "no draws", r, 1)
-		is(t, "Advance with no draws", r.Advance(1), api.OK)
+		sample.Is(t, "Advance with no draws", r.Advance(1), api.OK)
 	}
 }
 
@@ -151,8 +144,8 @@ func TestRegistersBesideOneDevice(t *testing.T) {
 	gives(t, "the first ones", r, 1)
 	gives(t, "the first ones", r, 2)
 	gives(t, "the second ones", s, 1)
-	is(t, "Advance of the first ones", r.Advance(2), api.OK)
-	is(t, "Advance of the second ones", s.Advance(2), api.ErrArg)
+	sample.Is(t, "Advance of the first ones", r.Advance(2), api.OK)
+	sample.Is(t, "Advance of the second ones", s.Advance(2), api.ErrArg)
 	draws(t, "the first ones", r, 5, list[0])
 	holds(t, "the first ones", r, 2, 2, 2)
 	holds(t, "the second ones", s, 1, 0, 3)
@@ -163,7 +156,7 @@ func TestRegistersBesideOneDevice(t *testing.T) {
 	d.Fail(3)
 	gives(t, "the second ones", s, 2)
 	gives(t, "the first ones", r, 3)
-	is(t, "Advance at the step that fails", s.Advance(2), api.ErrIO)
+	sample.Is(t, "Advance at the step that fails", s.Advance(2), api.ErrIO)
 	keeps(t, "the first ones at their limit", r, api.ErrSpent)
 	gives(t, "the second ones", s, 3)
 	if d.Steps() != 8 {
@@ -171,12 +164,12 @@ func TestRegistersBesideOneDevice(t *testing.T) {
 	}
 
 	d.Cut(1)
-	is(t, "Advance of the first ones", r.Advance(3), api.OK)
+	sample.Is(t, "Advance of the first ones", r.Advance(3), api.OK)
 	keeps(t, "the second ones, the power going", s, api.ErrDown)
-	is(t, "the second ones, the power off", s.Advance(1), api.ErrDown)
+	sample.Is(t, "the second ones, the power off", s.Advance(1), api.ErrDown)
 	holds(t, "the first ones", r, 3, 3, 2)
 	holds(t, "the second ones", s, 3, 0, 3)
-	is(t, "Crash", d.Crash(nil), api.OK)
+	sample.Is(t, "Crash", d.Crash(nil), api.OK)
 	gives(t, "the second ones", s, 4)
 	drains(t, "the first ones", r, list[1:]...)
 	drains(t, "the second ones", s, list...)
@@ -197,7 +190,7 @@ func TestRegistersKeepTheirDevice(t *testing.T) {
 	if d.Steps() != 1 || f.Steps() != 3 {
 		t.Errorf("%d steps of the device, %d of its fork; want 1, 3", d.Steps(), f.Steps())
 	}
-	is(t, "Crash", d.Crash(nil), api.OK)
+	sample.Is(t, "Crash", d.Crash(nil), api.OK)
 	gives(t, "beside the device that was forked", r, 2)
 }
 
@@ -302,7 +295,7 @@ func mixed(t *testing.T, start uint32, d, twin *disk.Disk) pair {
 	var list [][]byte
 	var same []string
 	for k := range 60 {
-		b := mingled(start+uint32(k), 1+int(mingled(start, 60)[k])%90)
+		b := sample.Mingled(start+uint32(k), 1+int(sample.Mingled(start, 60)[k])%90)
 		list = append(list, b)
 		same = append(same, string(b))
 	}
@@ -314,7 +307,7 @@ func TestAllAsTheWordsSay(t *testing.T) {
 	for start := range uint32(80) {
 		d, twin := fresh(t), fresh(t)
 		pairs := []pair{mixed(t, start, d, twin), mixed(t, start+1000, d, twin)}
-		told := mingled(start*7919, 4*600)
+		told := sample.Mingled(start*7919, 4*600)
 		for k := range 600 {
 			x := told[4*k:][:4]
 			if x[3]%8 == 0 {

@@ -17,8 +17,11 @@ const library = "bytes cmp container/heap errors iter maps math math/bits slices
 
 const layers = "octet galois aes ghash ctr gcm pack disk regs seal runs slot chain graft tree scan sound meta pager commit revive hier roll quota caps ideal vault witness play"
 
+// packages is the layers, and those beside them.
+func packages() []string { return append(strings.Fields(layers), "sample") }
+
 func TestLayersAreGoFilesAlone(t *testing.T) {
-	for _, layer := range strings.Fields(layers) {
+	for _, layer := range packages() {
 		list, err := os.ReadDir(filepath.Join("..", layer))
 		if err != nil {
 			t.Fatal(err)
@@ -32,7 +35,7 @@ func TestLayersAreGoFilesAlone(t *testing.T) {
 }
 
 func TestLayersKeepToTheLanguage(t *testing.T) {
-	for _, layer := range strings.Fields(layers) {
+	for _, layer := range packages() {
 		files, err := filepath.Glob(filepath.Join("..", layer, "*.go"))
 		if err != nil || len(files) == 0 {
 			t.Fatal(layer, "has no Go file", err)
@@ -59,6 +62,9 @@ func checkImports(t *testing.T, path string, file *ast.File) {
 		}
 		if !strings.HasPrefix(name, "donjon/") && !slices.Contains(strings.Fields(library), name) {
 			t.Errorf("%s imports %s", path, name)
+		}
+		if name == "donjon/sample" {
+			t.Errorf("%s imports what is for tests alone", path)
 		}
 	}
 }

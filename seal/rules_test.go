@@ -8,6 +8,7 @@ import (
 	"testing"
 
 	"donjon/api"
+	"donjon/sample"
 	"donjon/seal"
 )
 
@@ -18,12 +19,12 @@ func TestARingThatIsNotThere(t *testing.T) {
 	for _, tenant := range []uint32{0, 1, math.MaxUint32} {
 		for _, gen := range []uint16{0, 1, 65535} {
 			for _, size := range keySizes() {
-				is(t, "Add to none", r.Add(tenant, gen, sized(1, size)), api.ErrNil)
+				sample.Is(t, "Add to none", r.Add(tenant, gen, sized(1, size)), api.ErrNil)
 			}
 			if key, e := r.Key(tenant, gen); len(key) != 0 || e != api.ErrNil {
 				t.Errorf("Key of none: %x, %v; want none, ErrNil", key, e)
 			}
-			is(t, "Drop of none", r.Drop(tenant, gen), api.ErrNil)
+			sample.Is(t, "Drop of none", r.Drop(tenant, gen), api.ErrNil)
 		}
 		if gen, e := r.Newest(tenant); gen != 0 || e != api.ErrNil {
 			t.Errorf("Newest of none: %d, %v; want 0, ErrNil", gen, e)
@@ -34,7 +35,7 @@ func TestARingThatIsNotThere(t *testing.T) {
 
 func TestALogThatIsNotThere(t *testing.T) {
 	var g *seal.Log
-	b := page(t, mingled(1, 16), example(), mingled(2, 224))
+	b := page(t, sample.Mingled(1, 16), example(), sample.Mingled(2, 224))
 	for _, size := range keySizes() {
 		for _, n := range []int{-1, 223, 224} {
 			for _, l := range []api.Label{{}, example()} {
@@ -57,32 +58,24 @@ func TestAZeroRingAndAZeroLog(t *testing.T) {
 	var r seal.Ring
 	unknown(t, &r, 1)
 	lacks(t, &r, 1, 0)
-	is(t, "Drop", r.Drop(1, 0), api.ErrNone)
-	is(t, "Add", r.Add(1, 3, mingled(1, 16)), api.OK)
-	has(t, &r, 1, 3, mingled(1, 16))
+	sample.Is(t, "Drop", r.Drop(1, 0), api.ErrNone)
+	sample.Is(t, "Add", r.Add(1, 3, sample.Mingled(1, 16)), api.OK)
+	has(t, &r, 1, 3, sample.Mingled(1, 16))
 	newest(t, &r, 1, 3)
 
 	var g seal.Log
 	count(t, &g, 0)
 	twice(t, &g)
 	knows(t, "a zero log", &g, example(), nil, false, false)
-	b := notes(t, &g, mingled(1, 16), example(), mingled(2, 224))
+	b := notes(t, &g, sample.Mingled(1, 16), example(), sample.Mingled(2, 224))
 	knows(t, "a zero log", &g, example(), b, true, true)
 	count(t, &g, 1)
 }
 
 // R3 (memory)
 
-// wreck changes each byte of b and of the room behind it.
-func wreck(b []byte) {
-	b = b[:cap(b)]
-	for i := range b {
-		b[i] = ^b[i]
-	}
-}
-
 func TestWhatIsHandedInStays(t *testing.T) {
-	room := mingled(1, 1000)
+	room := sample.Mingled(1, 1000)
 	b := page(t, room[8:24], example(), room[100:324])
 	copy(room[400:], b)
 	copy(room[700:], b)
@@ -93,21 +86,21 @@ func TestWhatIsHandedInStays(t *testing.T) {
 		for _, p := range [][]byte{room[100:324], room[100:323], room[100:100]} {
 			for _, l := range []api.Label{example(), {}} {
 				one, _ := seal.Seal(key, l, p)
-				wreck(one)
+				sample.Wreck(one)
 				two, _ := g.Seal(key, l, p)
-				wreck(two)
+				sample.Wreck(two)
 			}
 		}
 		for _, block := range [][]byte{room[400:656], room[700:956], room[401:657], room[400:655], room[400:400]} {
 			p, _ := seal.Open(key, example(), block)
-			wreck(p)
+			sample.Wreck(p)
 			seal.Told(block)
 			g.Has(block)
 			g.Knows(example(), block)
 		}
 		r.Add(1, uint16(len(key)), key)
 		again, _ := r.Key(1, uint16(len(key)))
-		wreck(again)
+		sample.Wreck(again)
 	}
 	gens(t, r, 1, 16, 32)
 	if !bytes.Equal(room, was) {
@@ -119,39 +112,39 @@ func TestWhatIsHandedInStays(t *testing.T) {
 
 func TestKeysAreNotKept(t *testing.T) {
 	r := seal.NewRing()
-	room := mingled(1, 60)
+	room := sample.Mingled(1, 60)
 	for k, size := range []int{16, 32} {
 		key := room[: size : size+9]
 		was := bytes.Clone(key)
-		is(t, "Add", r.Add(1, uint16(k), key), api.OK)
-		wreck(key)
+		sample.Is(t, "Add", r.Add(1, uint16(k), key), api.OK)
+		sample.Wreck(key)
 		has(t, r, 1, uint16(k), was)
-		is(t, "Add again", r.Add(1, uint16(k), key), api.ErrTwice)
+		sample.Is(t, "Add again", r.Add(1, uint16(k), key), api.ErrTwice)
 		one, _ := r.Key(1, uint16(k))
 		two, _ := r.Key(1, uint16(k))
-		wreck(one)
+		sample.Wreck(one)
 		if !bytes.Equal(two, was) {
 			t.Error("two answers of Key share memory")
 		}
 		has(t, r, 1, uint16(k), was)
-		wreck(two)
+		sample.Wreck(two)
 		has(t, r, 1, uint16(k), was)
-		wreck(append(two, mingled(3, 9)...))
+		sample.Wreck(append(two, sample.Mingled(3, 9)...))
 	}
 }
 
 func TestOneKeyAtManyPlaces(t *testing.T) {
-	key := mingled(1, 16)
+	key := sample.Mingled(1, 16)
 	r := seal.NewRing()
 	for gen := range uint16(5) {
-		is(t, "Add", r.Add(1, gen, key), api.OK)
+		sample.Is(t, "Add", r.Add(1, gen, key), api.OK)
 	}
 	for gen := range uint16(5) {
 		k, _ := r.Key(1, gen)
-		wreck(k)
+		sample.Wreck(k)
 	}
 	for gen := range uint16(5) {
-		has(t, r, 1, gen, mingled(1, 16))
+		has(t, r, 1, gen, sample.Mingled(1, 16))
 	}
 }
 
@@ -170,20 +163,20 @@ func TestGensAreNewMemory(t *testing.T) {
 }
 
 func TestALogKeepsNothingThatIsHandedIn(t *testing.T) {
-	key, p := mingled(1, 16), mingled(2, 224)
+	key, p := sample.Mingled(1, 16), sample.Mingled(2, 224)
 	g := seal.NewLog()
 	b := notes(t, g, key, example(), p)
 	was := bytes.Clone(b)
-	wreck(b)
+	sample.Wreck(b)
 	knows(t, "what was answered, written over", g, example(), b, false, false)
 	knows(t, "what was answered", g, example(), was, true, true)
-	wreck(key)
-	wreck(p)
+	sample.Wreck(key)
+	sample.Wreck(p)
 	twice(t, g)
 	// The log must not take these for the first ones, though they stand where those stood.
 	notes(t, g, key, example(), p)
 	twice(t, g, example())
-	notes(t, g, mingled(1, 16), example(), mingled(2, 224))
+	notes(t, g, sample.Mingled(1, 16), example(), sample.Mingled(2, 224))
 	twice(t, g, example(), example())
 	knows(t, "what was answered", g, example(), was, true, true)
 	count(t, g, 3)
@@ -192,7 +185,7 @@ func TestALogKeepsNothingThatIsHandedIn(t *testing.T) {
 func TestTwiceIsNewMemory(t *testing.T) {
 	g := seal.NewLog()
 	for k := range uint32(4) {
-		notes(t, g, mingled(1, 16), example(), mingled(k, 224))
+		notes(t, g, sample.Mingled(1, 16), example(), sample.Mingled(k, 224))
 	}
 	one, two := g.Twice(), g.Twice()
 	one = one[:cap(one)]
@@ -206,7 +199,7 @@ func TestTwiceIsNewMemory(t *testing.T) {
 }
 
 func TestPagesAreNewMemory(t *testing.T) {
-	key, p, l := mingled(1, 16), mingled(2, 224), example()
+	key, p, l := sample.Mingled(1, 16), sample.Mingled(2, 224), example()
 	g := seal.NewLog()
 	block := page(t, key, l, p)
 	of := func() [][]byte {
@@ -217,14 +210,14 @@ func TestPagesAreNewMemory(t *testing.T) {
 	}
 	answers, again := of(), of()
 	for _, b := range answers {
-		wreck(b)
+		sample.Wreck(b)
 	}
 	for k, b := range of() {
 		if !bytes.Equal(b, again[k]) {
 			t.Errorf("the answer %d shares memory", k)
 		}
 	}
-	if !bytes.Equal(key, mingled(1, 16)) || !bytes.Equal(p, mingled(2, 224)) || !bytes.Equal(block, again[0]) {
+	if !bytes.Equal(key, sample.Mingled(1, 16)) || !bytes.Equal(p, sample.Mingled(2, 224)) || !bytes.Equal(block, again[0]) {
 		t.Error("an answer shares memory with what was handed in")
 	}
 }
@@ -232,7 +225,7 @@ func TestPagesAreNewMemory(t *testing.T) {
 // R4 (lists)
 
 func TestNilAndEmptyAreOne(t *testing.T) {
-	key, p := mingled(1, 16), mingled(2, 224)
+	key, p := sample.Mingled(1, 16), sample.Mingled(2, 224)
 	for _, none := range [][]byte{nil, {}, key[:0], key[16:]} {
 		if b, e := seal.Seal(none, example(), p); len(b) != 0 || e != api.ErrArg {
 			t.Errorf("Seal with no key: %d bytes, %v", len(b), e)
@@ -244,7 +237,7 @@ func TestNilAndEmptyAreOne(t *testing.T) {
 		shut(t, "no key", none, example(), make([]byte, 256), api.ErrArg)
 		untold(t, "no block", none, api.ErrArg)
 		r, g := ring(t, three()...), seal.NewLog()
-		is(t, "Add of no key", r.Add(7, 5, none), api.ErrArg)
+		sample.Is(t, "Add of no key", r.Add(7, 5, none), api.ErrArg)
 		knows(t, "no block", g, example(), none, false, false)
 		notes(t, g, key, example(), p)
 		knows(t, "no block", g, example(), none, false, false)
@@ -306,19 +299,19 @@ func TestRingsAsTheWordsSay(t *testing.T) {
 	for start := range uint32(20) {
 		rings := []*seal.Ring{seal.NewRing(), seal.NewRing()}
 		models := []places{{}, {}}
-		told := mingled(start*7919, 4*500)
+		told := sample.Mingled(start*7919, 4*500)
 		for k := range 500 {
 			x := told[4*k:][:4]
 			r, m := rings[x[0]%2], models[x[0]%2]
 			tenant, gen := uint32(x[1]%5)*1000, uint16(x[2]%12)*5957
 			what := fmt.Sprintf("%d, %d", start, k)
 			if x[3]%2 == 0 {
-				key := mingled(uint32(k), []int{16, 32, 16, 32, 16, 32, 15, 33}[x[3]/2%8])
+				key := sample.Mingled(uint32(k), []int{16, 32, 16, 32, 16, 32, 15, 33}[x[3]/2%8])
 				want := m.add(tenant, gen, key)
-				is(t, what+": Add", r.Add(tenant, gen, key), want)
+				sample.Is(t, what+": Add", r.Add(tenant, gen, key), want)
 			} else {
 				want := m.drop(tenant, gen)
-				is(t, what+": Drop", r.Drop(tenant, gen), want)
+				sample.Is(t, what+": Drop", r.Drop(tenant, gen), want)
 			}
 			for j := range 2 {
 				for n := range uint32(6) {
@@ -364,10 +357,10 @@ func TestLogsAsTheWordsSay(t *testing.T) {
 		past := make([]history, 2)
 		var blocks [][]byte
 		var asked []api.Label
-		told := mingled(start*7919, 8*60)
+		told := sample.Mingled(start*7919, 8*60)
 		for k := range 60 {
 			x := told[8*k:][:8]
-			key, p := mingled(uint32(x[1]%2), 16+int(x[1]/2%2)*16), mingled(uint32(x[2]%3), 224)
+			key, p := sample.Mingled(uint32(x[1]%2), 16+int(x[1]/2%2)*16), sample.Mingled(uint32(x[2]%3), 224)
 			l := api.Label{Tenant: uint32(x[3] % 2), Kind: x[4] % 6, Level: x[4] / 6 % 2, Ref: api.Ref{Page: uint32(x[5] % 3), Commit: uint64(x[6] % 4), Gen: uint16(x[7] % 2)}}
 			n := x[0] % 2
 			b, e := logs[n].Seal(key, l, p)

@@ -5,7 +5,6 @@ import (
 	libaes "crypto/aes"
 	"crypto/cipher"
 	"encoding/binary"
-	"encoding/hex"
 	"fmt"
 	"math"
 	"slices"
@@ -15,36 +14,9 @@ import (
 	"donjon/api"
 	"donjon/ctr"
 	"donjon/ghash"
+	"donjon/sample"
 	"donjon/seal"
 )
-
-// mingled is n bytes of no order, other ones for each start.
-func mingled(start uint32, n int) []byte {
-	b := make([]byte, n)
-	for i := range b {
-		start = start*1664525 + 1013904223
-		b[i] = byte(start >> 24)
-	}
-	return b
-}
-
-// raw is the bytes that the digits tell; blanks between them are passed over.
-func raw(t *testing.T, digits string) []byte {
-	t.Helper()
-	b, err := hex.DecodeString(string(bytes.ReplaceAll([]byte(digits), []byte(" "), nil)))
-	if err != nil {
-		t.Fatalf("%q: %v", digits, err)
-	}
-	return b
-}
-
-// is holds it that a call answers the error want.
-func is(t *testing.T, what string, e, want api.Errno) {
-	t.Helper()
-	if e != want {
-		t.Errorf("%s: %v; want %v", what, e, want)
-	}
-}
 
 // label is a label of a leaf.
 func label(tenant, page uint32, commit uint64) api.Label {
@@ -191,15 +163,15 @@ func bytesOf(t *testing.T, l api.Label, head, nonce, aad []byte) {
 
 func TestExamples(t *testing.T) {
 	l := example()
-	bytesOf(t, l, raw(t, "43485431 01 00 0002 0000000000000009"), raw(t, "00000007 0000000000000009"), raw(t, "00000005 01 00 0002"))
+	bytesOf(t, l, sample.Raw(t, "43485431 01 00 0002 0000000000000009"), sample.Raw(t, "00000007 0000000000000009"), sample.Raw(t, "00000005 01 00 0002"))
 
-	key, p := mingled(1, 32), mingled(2, 224)
+	key, p := sample.Mingled(1, 32), sample.Mingled(2, 224)
 	_, e := seal.Seal(key, l, p[:223])
-	is(t, "Seal with a payload of 223 bytes", e, api.ErrArg)
+	sample.Is(t, "Seal with a payload of 223 bytes", e, api.ErrArg)
 	none := l
 	none.Kind = 0
 	_, e = seal.Seal(key, none, p)
-	is(t, "Seal with the kind 0", e, api.ErrArg)
+	sample.Is(t, "Seal with the kind 0", e, api.ErrArg)
 
 	b := page(t, key, l, p)
 	opens(t, key, l, b, p)
@@ -208,17 +180,17 @@ func TestExamples(t *testing.T) {
 	shut(t, "the tenant 6", key, label(6, 7, 9), b, api.ErrTag)
 
 	r := seal.NewRing()
-	is(t, "Add", r.Add(1, 3, key), api.OK)
-	is(t, "Add again", r.Add(1, 3, key), api.ErrTwice)
+	sample.Is(t, "Add", r.Add(1, 3, key), api.OK)
+	sample.Is(t, "Add again", r.Add(1, 3, key), api.ErrTwice)
 	newest(t, r, 1, 3)
 	unknown(t, r, 2)
-	is(t, "Drop", r.Drop(1, 3), api.OK)
+	sample.Is(t, "Drop", r.Drop(1, 3), api.OK)
 	gens(t, r, 1)
 
 	g := seal.NewLog()
 	notes(t, g, key, l, p)
 	notes(t, g, key, l, p)
-	notes(t, g, key, l, mingled(3, 224))
+	notes(t, g, key, l, sample.Mingled(3, 224))
 	twice(t, g, l)
 }
 
@@ -226,12 +198,12 @@ func TestExamples(t *testing.T) {
 
 func TestBytesOfLabels(t *testing.T) {
 	unlike := api.Label{Tenant: 0xa1a2a3a4, Kind: 0xb1, Level: 0xb2, Ref: api.Ref{Page: 0xc1c2c3c4, Commit: 0xd1d2d3d4d5d6d7d8, Gen: 0xe1e2}}
-	bytesOf(t, unlike, raw(t, "43485431 b1 b2 e1e2 d1d2d3d4d5d6d7d8"), raw(t, "c1c2c3c4 d1d2d3d4d5d6d7d8"), raw(t, "a1a2a3a4 b1 b2 e1e2"))
-	bytesOf(t, api.Label{}, raw(t, "43485431 00 00 0000 0000000000000000"), raw(t, "00000000 0000000000000000"), raw(t, "00000000 00 00 0000"))
+	bytesOf(t, unlike, sample.Raw(t, "43485431 b1 b2 e1e2 d1d2d3d4d5d6d7d8"), sample.Raw(t, "c1c2c3c4 d1d2d3d4d5d6d7d8"), sample.Raw(t, "a1a2a3a4 b1 b2 e1e2"))
+	bytesOf(t, api.Label{}, sample.Raw(t, "43485431 00 00 0000 0000000000000000"), sample.Raw(t, "00000000 0000000000000000"), sample.Raw(t, "00000000 00 00 0000"))
 	ones := api.Label{Tenant: 1, Kind: 1, Level: 1, Ref: api.Ref{Page: 1, Commit: 1, Gen: 1}}
-	bytesOf(t, ones, raw(t, "43485431 01 01 0001 0000000000000001"), raw(t, "00000001 0000000000000001"), raw(t, "00000001 01 01 0001"))
+	bytesOf(t, ones, sample.Raw(t, "43485431 01 01 0001 0000000000000001"), sample.Raw(t, "00000001 0000000000000001"), sample.Raw(t, "00000001 01 01 0001"))
 	all := api.Label{Tenant: math.MaxUint32, Kind: 255, Level: 255, Ref: api.Ref{Page: math.MaxUint32, Commit: math.MaxUint64, Gen: math.MaxUint16}}
-	bytesOf(t, all, raw(t, "43485431 ff ff ffff ffffffffffffffff"), raw(t, "ffffffff ffffffffffffffff"), raw(t, "ffffffff ff ff ffff"))
+	bytesOf(t, all, sample.Raw(t, "43485431 ff ff ffff ffffffffffffffff"), sample.Raw(t, "ffffffff ffffffffffffffff"), sample.Raw(t, "ffffffff ff ff ffff"))
 }
 
 func TestBytesOfLabelsAsTheWordsSay(t *testing.T) {
@@ -271,10 +243,10 @@ func TestLabelsOfTheSameBytesAreTheSame(t *testing.T) {
 // P10.2 (Seal)
 
 func TestSealedPages(t *testing.T) {
-	payloads := [][]byte{make([]byte, 224), bytes.Repeat([]byte{255}, 224), mingled(3, 224)}
+	payloads := [][]byte{make([]byte, 224), bytes.Repeat([]byte{255}, 224), sample.Mingled(3, 224)}
 	for i, l := range labels() {
 		for _, size := range []int{16, 32} {
-			key, p := mingled(uint32(i), size), payloads[i%len(payloads)]
+			key, p := sample.Mingled(uint32(i), size), payloads[i%len(payloads)]
 			b, want := page(t, key, l, p), reckoned(t, key, l, p)
 			if !bytes.Equal(b, want) {
 				t.Errorf("Seal with a key of %d bytes for %v: %x; want %x", size, l, b, want)
@@ -300,7 +272,7 @@ func sized(start uint32, n int) []byte {
 	if n < 0 {
 		return nil
 	}
-	return mingled(start, n)
+	return sample.Mingled(start, n)
 }
 
 func TestWhatIsNotSealed(t *testing.T) {
@@ -326,7 +298,7 @@ func TestWhatIsNotSealed(t *testing.T) {
 // P10.2 (Open)
 
 func TestErrorsOfOpenInTheirOrder(t *testing.T) {
-	p := mingled(2, 224)
+	p := sample.Mingled(2, 224)
 	for _, size := range keySizes() {
 		for _, kind := range []uint8{0, 1, 2, 3, 4, 5, 255} {
 			for _, n := range []int{-1, 0, 15, 16, 17, 240, 255, 256, 257, 272} {
@@ -334,7 +306,7 @@ func TestErrorsOfOpenInTheirOrder(t *testing.T) {
 					key := sized(1, size)
 					l := example()
 					l.Kind = kind
-					block := mingled(9, 300)
+					block := sample.Mingled(9, 300)
 					mayBe := (size == 16 || size == 32) && 1 <= kind && kind <= 4
 					if mayBe {
 						copy(block, reckoned(t, key, l, p))
@@ -372,7 +344,7 @@ func TestErrorsOfOpenInTheirOrder(t *testing.T) {
 
 func TestEachByteOfABlockIsTold(t *testing.T) {
 	for _, size := range []int{16, 32} {
-		key, p := mingled(1, size), mingled(2, 224)
+		key, p := sample.Mingled(1, size), sample.Mingled(2, 224)
 		b := page(t, key, example(), p)
 		for i := range b {
 			for _, x := range []byte{1, 0x10, 0x80, 0xff} {
@@ -390,7 +362,7 @@ func TestEachByteOfABlockIsTold(t *testing.T) {
 }
 
 func TestEachFieldOfALabelIsTold(t *testing.T) {
-	key, p := mingled(1, 32), mingled(2, 224)
+	key, p := sample.Mingled(1, 32), sample.Mingled(2, 224)
 	for _, l := range labels() {
 		b := page(t, key, l, p)
 		for what, m := range turned(l) {
@@ -409,11 +381,11 @@ func TestEachFieldOfALabelIsTold(t *testing.T) {
 }
 
 func TestOtherKeysDoNotOpen(t *testing.T) {
-	p := mingled(2, 224)
-	long := mingled(1, 32)
+	p := sample.Mingled(2, 224)
+	long := sample.Mingled(1, 32)
 	for _, key := range [][]byte{long, long[:16]} {
 		b := page(t, key, example(), p)
-		others := [][]byte{long, long[:16], long[16:], mingled(9, 16), mingled(9, 32), make([]byte, 16), make([]byte, 32)}
+		others := [][]byte{long, long[:16], long[16:], sample.Mingled(9, 16), sample.Mingled(9, 32), make([]byte, 16), make([]byte, 32)}
 		for i := range key {
 			other := bytes.Clone(key)
 			other[i] ^= 1
@@ -429,17 +401,17 @@ func TestOtherKeysDoNotOpen(t *testing.T) {
 }
 
 func TestBlocksThatAreNoPages(t *testing.T) {
-	key := mingled(1, 16)
+	key := sample.Mingled(1, 16)
 	shut(t, "noughts", key, example(), make([]byte, 256), api.ErrHead)
-	shut(t, "mingled", key, example(), mingled(4, 256), api.ErrHead)
+	shut(t, "mingled", key, example(), sample.Mingled(4, 256), api.ErrHead)
 	shut(t, "a head, and noughts", key, example(), append(seal.HeadOf(example()), make([]byte, 240)...), api.ErrTag)
-	shut(t, "a head, and other bytes", key, example(), append(seal.HeadOf(example()), mingled(4, 240)...), api.ErrTag)
+	shut(t, "a head, and other bytes", key, example(), append(seal.HeadOf(example()), sample.Mingled(4, 240)...), api.ErrTag)
 }
 
 // P10.2 (Told)
 
 func TestToldOfBlocksOfOtherLengths(t *testing.T) {
-	b := append(page(t, mingled(1, 16), example(), mingled(2, 224)), mingled(3, 300)...)
+	b := append(page(t, sample.Mingled(1, 16), example(), sample.Mingled(2, 224)), sample.Mingled(3, 300)...)
 	for _, n := range []int{0, 1, 4, 15, 16, 17, 240, 255, 257, 272, 512} {
 		untold(t, "a page", b[:n], api.ErrArg)
 		untold(t, "noughts", make([]byte, n), api.ErrArg)
@@ -449,7 +421,7 @@ func TestToldOfBlocksOfOtherLengths(t *testing.T) {
 }
 
 func TestToldOfHeadsThatAreNone(t *testing.T) {
-	b := page(t, mingled(1, 16), example(), mingled(2, 224))
+	b := page(t, sample.Mingled(1, 16), example(), sample.Mingled(2, 224))
 	for i := range 4 {
 		for x := range 255 {
 			c := bytes.Clone(b)
@@ -476,7 +448,7 @@ func TestToldOfHeadsThatAreNone(t *testing.T) {
 func TestToldLooksAtTheHead(t *testing.T) {
 	for _, l := range labels() {
 		for what, m := range turned(l) {
-			tells(t, what, append(seal.HeadOf(m), mingled(1, 240)...), m)
+			tells(t, what, append(seal.HeadOf(m), sample.Mingled(1, 240)...), m)
 			tells(t, what, append(seal.HeadOf(m), make([]byte, 240)...), m)
 		}
 	}
@@ -537,7 +509,7 @@ func ring(t *testing.T, list ...held) *seal.Ring {
 		t.Fatal("NewRing answers none")
 	}
 	for _, h := range list {
-		is(t, fmt.Sprintf("Add(%d, %d)", h.tenant, h.gen), r.Add(h.tenant, h.gen, h.key), api.OK)
+		sample.Is(t, fmt.Sprintf("Add(%d, %d)", h.tenant, h.gen), r.Add(h.tenant, h.gen, h.key), api.OK)
 	}
 	return r
 }
@@ -551,7 +523,7 @@ type held struct {
 
 // three is keys of one tenant, of another, and of the store.
 func three() []held {
-	return []held{{0, 0, mingled(1, 32)}, {7, 5, mingled(2, 16)}, {7, 65535, mingled(3, 16)}, {math.MaxUint32, 65535, mingled(4, 32)}, {7, 0, mingled(5, 16)}}
+	return []held{{0, 0, sample.Mingled(1, 32)}, {7, 5, sample.Mingled(2, 16)}, {7, 65535, sample.Mingled(3, 16)}, {math.MaxUint32, 65535, sample.Mingled(4, 32)}, {7, 0, sample.Mingled(5, 16)}}
 }
 
 func TestANewRing(t *testing.T) {
@@ -560,7 +532,7 @@ func TestANewRing(t *testing.T) {
 		unknown(t, r, tenant)
 		for _, gen := range []uint16{0, 1, 65535} {
 			lacks(t, r, tenant, gen)
-			is(t, "Drop", r.Drop(tenant, gen), api.ErrNone)
+			sample.Is(t, "Drop", r.Drop(tenant, gen), api.ErrNone)
 		}
 	}
 }
@@ -570,23 +542,23 @@ func TestAdd(t *testing.T) {
 		r := ring(t, three()...)
 		key := sized(9, size)
 		if size == 16 || size == 32 {
-			is(t, "Add", r.Add(7, 6, key), api.OK)
+			sample.Is(t, "Add", r.Add(7, 6, key), api.OK)
 			has(t, r, 7, 6, key)
 			gens(t, r, 7, 0, 5, 6, 65535)
 			// A key that is there is told ahead of nothing but its length.
-			is(t, "Add again", r.Add(7, 6, key), api.ErrTwice)
-			is(t, "Add of another key", r.Add(7, 6, mingled(10, size)), api.ErrTwice)
-			is(t, "Add of a key of another length", r.Add(7, 6, mingled(10, 48-size)), api.ErrTwice)
-			is(t, "Add to another tenant", r.Add(8, 6, mingled(11, size)), api.OK)
-			is(t, "Add of another generation", r.Add(7, 7, key), api.OK)
+			sample.Is(t, "Add again", r.Add(7, 6, key), api.ErrTwice)
+			sample.Is(t, "Add of another key", r.Add(7, 6, sample.Mingled(10, size)), api.ErrTwice)
+			sample.Is(t, "Add of a key of another length", r.Add(7, 6, sample.Mingled(10, 48-size)), api.ErrTwice)
+			sample.Is(t, "Add to another tenant", r.Add(8, 6, sample.Mingled(11, size)), api.OK)
+			sample.Is(t, "Add of another generation", r.Add(7, 7, key), api.OK)
 			has(t, r, 7, 6, key)
-			has(t, r, 8, 6, mingled(11, size))
+			has(t, r, 8, 6, sample.Mingled(11, size))
 			has(t, r, 7, 7, key)
 			lacks(t, r, 8, 7)
 			continue
 		}
-		is(t, fmt.Sprint("Add of a key of the length ", size), r.Add(7, 6, key), api.ErrArg)
-		is(t, fmt.Sprint("Add, where one is, of a key of the length ", size), r.Add(7, 5, key), api.ErrArg)
+		sample.Is(t, fmt.Sprint("Add of a key of the length ", size), r.Add(7, 6, key), api.ErrArg)
+		sample.Is(t, fmt.Sprint("Add, where one is, of a key of the length ", size), r.Add(7, 5, key), api.ErrArg)
 		lacks(t, r, 7, 6)
 		gens(t, r, 7, 0, 5, 65535)
 		for _, h := range three() {
@@ -610,17 +582,17 @@ func TestTenantsAreApart(t *testing.T) {
 		unknown(t, r, tenant)
 		for _, gen := range []uint16{0, 5, 7, 65535} {
 			lacks(t, r, tenant, gen)
-			is(t, "Drop", r.Drop(tenant, gen), api.ErrNone)
+			sample.Is(t, "Drop", r.Drop(tenant, gen), api.ErrNone)
 		}
 	}
-	is(t, "Drop", r.Drop(7, 5), api.OK)
+	sample.Is(t, "Drop", r.Drop(7, 5), api.OK)
 	gens(t, r, 7, 0, 65535)
 	gens(t, r, 0, 0)
 	lacks(t, r, 7, 5)
-	is(t, "Drop", r.Drop(7, 65535), api.OK)
+	sample.Is(t, "Drop", r.Drop(7, 65535), api.OK)
 	newest(t, r, 7, 0)
 	newest(t, r, math.MaxUint32, 65535)
-	is(t, "Drop", r.Drop(7, 0), api.OK)
+	sample.Is(t, "Drop", r.Drop(7, 0), api.OK)
 	unknown(t, r, 7)
 	newest(t, r, 0, 0)
 }
@@ -631,8 +603,8 @@ func TestPlacesAreApart(t *testing.T) {
 	var list []held
 	for _, tenant := range []uint32{7, 1<<8 | 7, 1<<16 | 7, 1<<24 | 7, 1<<31 | 7, 7 << 8, 7 << 16} {
 		for _, gen := range []uint16{5, 1<<8 | 5, 1<<15 | 5, 5 << 8} {
-			h := held{tenant, gen, mingled(tenant^uint32(gen)*31, 16)}
-			is(t, fmt.Sprintf("Add(%d, %d)", tenant, gen), r.Add(tenant, gen, h.key), api.OK)
+			h := held{tenant, gen, sample.Mingled(tenant^uint32(gen)*31, 16)}
+			sample.Is(t, fmt.Sprintf("Add(%d, %d)", tenant, gen), r.Add(tenant, gen, h.key), api.OK)
 			list = append(list, h)
 		}
 	}
@@ -641,24 +613,24 @@ func TestPlacesAreApart(t *testing.T) {
 		has(t, r, h.tenant, h.gen, h.key)
 	}
 	for _, h := range list {
-		is(t, fmt.Sprintf("Drop(%d, %d)", h.tenant, h.gen), r.Drop(h.tenant, h.gen), api.OK)
+		sample.Is(t, fmt.Sprintf("Drop(%d, %d)", h.tenant, h.gen), r.Drop(h.tenant, h.gen), api.OK)
 		lacks(t, r, h.tenant, h.gen)
 	}
 }
 
 func TestDroppedAndAddedAgain(t *testing.T) {
 	r := ring(t, three()...)
-	is(t, "Drop", r.Drop(7, 5), api.OK)
-	is(t, "Drop again", r.Drop(7, 5), api.ErrNone)
-	is(t, "Add again", r.Add(7, 5, mingled(20, 32)), api.OK)
-	has(t, r, 7, 5, mingled(20, 32))
-	is(t, "Add twice", r.Add(7, 5, mingled(2, 16)), api.ErrTwice)
+	sample.Is(t, "Drop", r.Drop(7, 5), api.OK)
+	sample.Is(t, "Drop again", r.Drop(7, 5), api.ErrNone)
+	sample.Is(t, "Add again", r.Add(7, 5, sample.Mingled(20, 32)), api.OK)
+	has(t, r, 7, 5, sample.Mingled(20, 32))
+	sample.Is(t, "Add twice", r.Add(7, 5, sample.Mingled(2, 16)), api.ErrTwice)
 	gens(t, r, 7, 0, 5, 65535)
 	for _, gen := range []uint16{65535, 0, 5} {
-		is(t, "Drop", r.Drop(7, gen), api.OK)
+		sample.Is(t, "Drop", r.Drop(7, gen), api.OK)
 	}
 	unknown(t, r, 7)
-	is(t, "Add behind all", r.Add(7, 3, mingled(21, 16)), api.OK)
+	sample.Is(t, "Add behind all", r.Add(7, 3, sample.Mingled(21, 16)), api.OK)
 	gens(t, r, 7, 3)
 	newest(t, r, 7, 3)
 	lacks(t, r, 7, 5)
@@ -669,8 +641,8 @@ func TestGensRise(t *testing.T) {
 	var want []uint16
 	for k := range 300 {
 		gen := uint16(k * 40503) // odd: no generation comes twice
-		is(t, "Add", r.Add(7, gen, mingled(uint32(k), 16)), api.OK)
-		is(t, "Add to another one", r.Add(8, gen+1, mingled(uint32(k), 32)), api.OK)
+		sample.Is(t, "Add", r.Add(7, gen, sample.Mingled(uint32(k), 16)), api.OK)
+		sample.Is(t, "Add to another one", r.Add(8, gen+1, sample.Mingled(uint32(k), 32)), api.OK)
 		want = append(want, gen)
 		slices.Sort(want)
 		gens(t, r, 7, want...)
@@ -678,8 +650,8 @@ func TestGensRise(t *testing.T) {
 	}
 	for k := range 300 {
 		gen := uint16(k * 40503)
-		has(t, r, 7, gen, mingled(uint32(k), 16))
-		is(t, "Drop", r.Drop(7, gen), api.OK)
+		has(t, r, 7, gen, sample.Mingled(uint32(k), 16))
+		sample.Is(t, "Drop", r.Drop(7, gen), api.OK)
 		want = slices.DeleteFunc(want, func(g uint16) bool { return g == gen })
 		gens(t, r, 7, want...)
 	}
@@ -732,14 +704,14 @@ func TestANewLog(t *testing.T) {
 	}
 	count(t, g, 0)
 	twice(t, g)
-	for _, b := range [][]byte{nil, {}, make([]byte, 256), page(t, mingled(1, 16), example(), mingled(2, 224))} {
+	for _, b := range [][]byte{nil, {}, make([]byte, 256), page(t, sample.Mingled(1, 16), example(), sample.Mingled(2, 224))} {
 		knows(t, "a new log", g, example(), b, false, false)
 		knows(t, "a new log", g, api.Label{}, b, false, false)
 	}
 }
 
 func TestALogKnowsWhatWasSealedThroughIt(t *testing.T) {
-	key, p := mingled(1, 16), mingled(2, 224)
+	key, p := sample.Mingled(1, 16), sample.Mingled(2, 224)
 	g, h := seal.NewLog(), seal.NewLog()
 	b := notes(t, g, key, example(), p)
 	knows(t, "this log", g, example(), b, true, true)
@@ -755,9 +727,9 @@ func TestALogKnowsWhatWasSealedThroughIt(t *testing.T) {
 	none.Kind = 0
 	knows(t, "a label that may not be", g, none, b, true, false)
 	knows(t, "no label", g, api.Label{}, b, true, false)
-	other := page(t, mingled(3, 16), example(), p)
+	other := page(t, sample.Mingled(3, 16), example(), p)
 	knows(t, "another key", g, example(), other, false, false)
-	other = page(t, key, example(), mingled(3, 224))
+	other = page(t, key, example(), sample.Mingled(3, 224))
 	knows(t, "another payload", g, example(), other, false, false)
 	for i := range b {
 		c := bytes.Clone(b)
@@ -783,7 +755,7 @@ func TestALogKnowsAllThatWasSealed(t *testing.T) {
 	var blocks [][]byte
 	list := labels()
 	for i, l := range list {
-		blocks = append(blocks, notes(t, g, mingled(uint32(i), 16+i%2*16), l, mingled(uint32(i), 224)))
+		blocks = append(blocks, notes(t, g, sample.Mingled(uint32(i), 16+i%2*16), l, sample.Mingled(uint32(i), 224)))
 		count(t, g, i+1)
 	}
 	for i, b := range blocks {
@@ -794,14 +766,14 @@ func TestALogKnowsAllThatWasSealed(t *testing.T) {
 }
 
 func TestWhatIsRefusedIsNotKnownOf(t *testing.T) {
-	key, p := mingled(1, 16), mingled(2, 224)
+	key, p := sample.Mingled(1, 16), sample.Mingled(2, 224)
 	none := example()
 	none.Kind = 5
 	wrong := []struct {
 		key     []byte
 		l       api.Label
 		payload []byte
-	}{{nil, example(), p}, {key[:15], example(), p}, {mingled(1, 17), example(), p}, {mingled(1, 24), example(), p}, {mingled(1, 31), example(), p}, {mingled(1, 33), example(), p}, {key, none, p}, {key, api.Label{}, p}, {key, example(), nil}, {key, example(), p[:223]}, {key, example(), mingled(2, 225)}}
+	}{{nil, example(), p}, {key[:15], example(), p}, {sample.Mingled(1, 17), example(), p}, {sample.Mingled(1, 24), example(), p}, {sample.Mingled(1, 31), example(), p}, {sample.Mingled(1, 33), example(), p}, {key, none, p}, {key, api.Label{}, p}, {key, example(), nil}, {key, example(), p[:223]}, {key, example(), sample.Mingled(2, 225)}}
 	g := seal.NewLog()
 	for round := range 2 {
 		for k, w := range wrong {
@@ -820,7 +792,7 @@ func TestWhatIsRefusedIsNotKnownOf(t *testing.T) {
 
 // The same key, label and payload are the same thing.
 func TestTheSameAgainIsNotTwice(t *testing.T) {
-	key, p := mingled(1, 16), mingled(2, 224)
+	key, p := sample.Mingled(1, 16), sample.Mingled(2, 224)
 	g := seal.NewLog()
 	for k := range 4 {
 		b := notes(t, g, key, example(), p)
@@ -837,8 +809,8 @@ func TestTheSameAgainIsNotTwice(t *testing.T) {
 }
 
 func TestSomethingElseIsTwice(t *testing.T) {
-	long := mingled(1, 32)
-	key, p := long[:16], mingled(2, 224)
+	long := sample.Mingled(1, 32)
+	key, p := long[:16], sample.Mingled(2, 224)
 	// One bit of the payload, wherever it is, makes it another one.
 	for i := range p {
 		q := bytes.Clone(p)
@@ -848,7 +820,7 @@ func TestSomethingElseIsTwice(t *testing.T) {
 		notes(t, g, key, example(), q)
 		twice(t, g, example())
 	}
-	for _, other := range [][]byte{long, long[16:], mingled(9, 16), append(key[:15:15], key[15]^1)} {
+	for _, other := range [][]byte{long, long[16:], sample.Mingled(9, 16), append(key[:15:15], key[15]^1)} {
 		g := seal.NewLog()
 		notes(t, g, key, example(), p)
 		notes(t, g, other, example(), p)
@@ -874,9 +846,9 @@ func TestSomethingElseIsTwice(t *testing.T) {
 func maker(t *testing.T, key []byte, l api.Label) (h, mask [16]byte) {
 	t.Helper()
 	c, e := aes.New(key)
-	is(t, "aes.New", e, api.OK)
+	sample.Is(t, "aes.New", e, api.OK)
 	first, e := ctr.First(seal.NonceOf(l))
-	is(t, "ctr.First", e, api.OK)
+	sample.Is(t, "ctr.First", e, api.OK)
 	h, _ = c.Encrypt([16]byte{})
 	mask, _ = c.Encrypt(first)
 	return h, mask
@@ -912,20 +884,20 @@ func twins(t *testing.T, a, b *twin) {
 	t.Helper()
 	h, mask := maker(t, a.key, a.l)
 	k, other := maker(t, b.key, b.l)
-	c := append(mingled(7, 208), make([]byte, 16)...)
+	c := append(sample.Mingled(7, 208), make([]byte, 16)...)
 	differ := added(added(ghash.Sum(h, seal.AadOf(a.l), c), mask), added(ghash.Sum(k, seal.AadOf(b.l), c), other))
 	last := ghash.Mul(differ, inverse(added(ghash.Mul(h, h), ghash.Mul(k, k))))
 	copy(c[208:], last[:])
 	for _, w := range []*twin{a, b} {
 		p, e := ctr.Crypt(w.key, seal.NonceOf(w.l), c)
-		is(t, "ctr.Crypt", e, api.OK)
+		sample.Is(t, "ctr.Crypt", e, api.OK)
 		w.payload = p
 	}
 }
 
 func TestOneBlockSealedForMany(t *testing.T) {
 	for what, m := range map[string]api.Label{"this label": example(), "another tenant": label(6, 7, 9), "another page": label(5, 8, 9)} {
-		a, b := twin{key: mingled(1, 16), l: example()}, twin{key: mingled(2, 32), l: m}
+		a, b := twin{key: sample.Mingled(1, 16), l: example()}, twin{key: sample.Mingled(2, 32), l: m}
 		twins(t, &a, &b)
 		g := seal.NewLog()
 		block := notes(t, g, a.key, a.l, a.payload)
@@ -948,13 +920,13 @@ func TestOneBlockSealedForMany(t *testing.T) {
 
 // Page and commit are the nonce, however their bytes stand: neither alone, nor their digits, nor one for the other.
 func TestOtherNoncesAreNotTwice(t *testing.T) {
-	key := mingled(1, 16)
+	key := sample.Mingled(1, 16)
 	g := seal.NewLog()
 	n := uint32(0)
 	for _, page := range []uint32{0, 1, 7, 9, 1 << 8, 1 << 24, math.MaxUint32} {
 		for _, commit := range []uint64{0, 1, 7, 9, 1 << 8, 1 << 32, 1 << 56, math.MaxUint64} {
 			n++
-			notes(t, g, key, label(5, page, commit), mingled(n, 224))
+			notes(t, g, key, label(5, page, commit), sample.Mingled(n, 224))
 		}
 	}
 	twice(t, g)
@@ -962,7 +934,7 @@ func TestOtherNoncesAreNotTwice(t *testing.T) {
 }
 
 func TestTwiceInOrder(t *testing.T) {
-	key, p, q, u := mingled(1, 16), mingled(2, 224), mingled(3, 224), mingled(4, 224)
+	key, p, q, u := sample.Mingled(1, 16), sample.Mingled(2, 224), sample.Mingled(3, 224), sample.Mingled(4, 224)
 	a, b := label(5, 7, 9), label(5, 8, 9)
 	other := a
 	other.Tenant = 6
@@ -983,7 +955,7 @@ func TestTwiceInOrder(t *testing.T) {
 	twice(t, g, a, other, b, a)
 	notes(t, g, key, a, u)
 	twice(t, g, a, other, b, a, a)
-	notes(t, g, mingled(9, 32), b, u)
+	notes(t, g, sample.Mingled(9, 32), b, u)
 	twice(t, g, a, other, b, a, a, b)
 	notes(t, g, key, label(5, 7, 10), u)
 	twice(t, g, a, other, b, a, a, b)
